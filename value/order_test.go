@@ -8,12 +8,13 @@ import (
 	"testing"
 
 	"tenon/api"
+	"tenon/sample"
 	"tenon/value"
 )
 
 // P1.3 and P1.7: every two of the values that rise, both ways round; so each kind's own order, and the kinds' order.
 func TestOrderRises(t *testing.T) {
-	l := rising()
+	l := sample.Rising()
 	for i, a := range l {
 		for j, b := range l {
 			want := cmp.Compare(i, j)
@@ -31,9 +32,9 @@ func TestOrderRises(t *testing.T) {
 func TestSame(t *testing.T) {
 	shared := api.List{"x"}
 	for i, x := range [][2]any{
-		{math.NaN(), math.NaN()}, {bits(0xfff8000000000001), bits(0xfff8000000000001)}, {"a" + string([]byte{'b'}), "ab"}, {[]byte{1}, []byte{1}},
-		{api.List(nil), api.List{}}, {api.Dict(nil), api.Dict{}}, {[]byte(nil), []byte{}}, {record("a", 1), &api.Record{Class: "a", Version: 1, Fields: api.Dict{}}}, {api.List{[]byte(nil)}, api.List{[]byte{}}},
-		{api.List{shared, shared}, api.List{api.List{"x"}, api.List{"x"}}}, {record("a", 1, field("a", api.List{1.0})), record("a", 1, field("a", api.List{1.0}))},
+		{math.NaN(), math.NaN()}, {sample.Bits(0xfff8000000000001), sample.Bits(0xfff8000000000001)}, {"a" + string([]byte{'b'}), "ab"}, {[]byte{1}, []byte{1}},
+		{api.List(nil), api.List{}}, {api.Dict(nil), api.Dict{}}, {[]byte(nil), []byte{}}, {sample.Record("a", 1), &api.Record{Class: "a", Version: 1, Fields: api.Dict{}}}, {api.List{[]byte(nil)}, api.List{[]byte{}}},
+		{api.List{shared, shared}, api.List{api.List{"x"}, api.List{"x"}}}, {sample.Record("a", 1, sample.Field("a", api.List{1.0})), sample.Record("a", 1, sample.Field("a", api.List{1.0}))},
 	} {
 		n, e := value.Order(x[0], x[1])
 		if !value.Same(x[0], x[1]) || n != 0 || e != api.OK {
@@ -41,9 +42,9 @@ func TestSame(t *testing.T) {
 		}
 	}
 	for i, x := range [][2]any{
-		{0.0, minusZero()}, {math.NaN(), bits(math.Float64bits(math.NaN()) + 1)}, {math.NaN(), bits(math.Float64bits(math.NaN()) | 1<<63)}, {int64(1), 1.0}, {int64(1), api.Ref(1)}, {"a", []byte("a")}, {api.List{}, api.Dict{}}, {api.Dict{}, record("a", 1)},
-		{nil, api.List(nil)}, {nil, api.Dict(nil)}, {nil, []byte(nil)}, {nil, false}, {nil, int64(0)}, {nil, ""}, {api.List{nil}, api.List{}}, {record("a", 1), record("a", 2)}, {record("a", 1), record("b", 1)},
-		{api.Dict{field("a", nil)}, api.Dict{field("b", nil)}}, {api.Dict{field("a", nil)}, api.Dict{field("a", false)}}, {api.Dict{field("a", nil)}, api.Dict{}},
+		{0.0, sample.MinusZero()}, {math.NaN(), sample.Bits(math.Float64bits(math.NaN()) + 1)}, {math.NaN(), sample.Bits(math.Float64bits(math.NaN()) | 1<<63)}, {int64(1), 1.0}, {int64(1), api.Ref(1)}, {"a", []byte("a")}, {api.List{}, api.Dict{}}, {api.Dict{}, sample.Record("a", 1)},
+		{nil, api.List(nil)}, {nil, api.Dict(nil)}, {nil, []byte(nil)}, {nil, false}, {nil, int64(0)}, {nil, ""}, {api.List{nil}, api.List{}}, {sample.Record("a", 1), sample.Record("a", 2)}, {sample.Record("a", 1), sample.Record("b", 1)},
+		{api.Dict{sample.Field("a", nil)}, api.Dict{sample.Field("b", nil)}}, {api.Dict{sample.Field("a", nil)}, api.Dict{sample.Field("a", false)}}, {api.Dict{sample.Field("a", nil)}, api.Dict{}},
 	} {
 		if value.Same(x[0], x[1]) || value.Same(x[1], x[0]) {
 			t.Error(i)
@@ -53,23 +54,23 @@ func TestSame(t *testing.T) {
 
 // P1.3 and P1.5: what can't be is the same as nothing, itself included; Order tells a's error first.
 func TestSameAndOrderWrong(t *testing.T) {
-	for _, x := range wrongValues() {
-		for _, other := range []any{nil, int64(1), api.List{}, x.v} {
-			if value.Same(x.v, other) || value.Same(other, x.v) {
-				t.Errorf("%s: the same as %T", x.name, other)
+	for _, x := range sample.Wrongs() {
+		for _, other := range []any{nil, int64(1), api.List{}, x.V} {
+			if value.Same(x.V, other) || value.Same(other, x.V) {
+				t.Errorf("%s: the same as %T", x.Name, other)
 			}
-			if n, e := value.Order(x.v, other); n != 0 || e != x.why {
-				t.Errorf("%s, then %T: %d, %d", x.name, other, n, e)
+			if n, e := value.Order(x.V, other); n != 0 || e != x.Why {
+				t.Errorf("%s, then %T: %d, %d", x.Name, other, n, e)
 			}
-			if n, e := value.Order(other, x.v); n != 0 || e != x.why {
-				t.Errorf("%T, then %s: %d, %d", other, x.name, n, e)
+			if n, e := value.Order(other, x.V); n != 0 || e != x.Why {
+				t.Errorf("%T, then %s: %d, %d", other, x.Name, n, e)
 			}
 		}
 	}
 	for _, x := range []struct {
 		a, b any
 		want api.Errno
-	}{{7, nobody, api.ErrKind}, {nobody, 7, api.ErrNil}, {record("A", 1), record("a", 0), api.ErrName}, {record("a", 0), record("A", 1), api.ErrArg}, {recordRing(), func() {}, api.ErrLong}} {
+	}{{7, sample.Nobody(), api.ErrKind}, {sample.Nobody(), 7, api.ErrNil}, {sample.Record("A", 1), sample.Record("a", 0), api.ErrName}, {sample.Record("a", 0), sample.Record("A", 1), api.ErrArg}, {sample.RecordRing(), func() {}, api.ErrLong}} {
 		if n, e := value.Order(x.a, x.b); n != 0 || e != x.want {
 			t.Errorf("%T, %T: %d, %d", x.a, x.b, n, e)
 		}
@@ -81,12 +82,12 @@ func TestOrderExamples(t *testing.T) {
 	for _, x := range []struct {
 		a, b any
 		want int
-	}{{minusZero(), 0.0, -1}, {true, int64(0), -1}, {api.List{}, api.List{nil}, -1}} {
+	}{{sample.MinusZero(), 0.0, -1}, {true, int64(0), -1}, {api.List{}, api.List{nil}, -1}} {
 		if n, e := value.Order(x.a, x.b); n != x.want || e != api.OK {
 			t.Error(x, n, e)
 		}
 	}
-	if !value.Same(math.NaN(), math.NaN()) || value.Same(0.0, minusZero()) || value.Same(func() {}, nil) {
+	if !value.Same(math.NaN(), math.NaN()) || value.Same(0.0, sample.MinusZero()) || value.Same(func() {}, nil) {
 		t.Error("Same")
 	}
 }
@@ -96,7 +97,7 @@ func TestOrderIsTotal(t *testing.T) {
 	r := rand.New(rand.NewSource(7))
 	var l []any
 	for range 300 {
-		l = append(l, anyhow(r, 3))
+		l = append(l, sample.Anyhow(r.Intn, 3))
 	}
 	order := func(a, b any) int {
 		n, e := value.Order(a, b)

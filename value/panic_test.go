@@ -4,18 +4,19 @@ import (
 	"testing"
 
 	"tenon/api"
+	"tenon/sample"
 	"tenon/value"
 )
 
 // strange is what an interface may hold, at best and at worst.
 func strange() []any {
-	all := append(aliens(), nil, nobody, true, int64(0), 0.0, "", []byte(nil), api.Ref(0), api.List(nil), api.Dict(nil), &api.Record{}, api.List{func() {}}, listRing(), dictRing(), recordRing(), ringOfThree(), doubled(50))
+	all := append(aliens(), nil, sample.Nobody(), true, int64(0), 0.0, "", []byte(nil), api.Ref(0), api.List(nil), api.Dict(nil), &api.Record{}, api.List{func() {}}, sample.ListRing(), sample.DictRing(), sample.RecordRing(), sample.RingOfThree(), sample.Doubled(50))
 	return all
 }
 
 // wrapped is a value by itself and within the kinds that hold values.
 func wrapped(v any) []any {
-	return []any{v, api.List{v, v}, api.Dict{field("a", v)}, record("a", 1, field("a", v)), within(api.MaxDepth, v)}
+	return []any{v, api.List{v, v}, api.Dict{sample.Field("a", v)}, sample.Record("a", 1, sample.Field("a", v)), sample.Within(api.MaxDepth, v)}
 }
 
 // P1.5: no call panics, of one value or of two.
@@ -49,7 +50,7 @@ func TestNeverAPanic(t *testing.T) {
 
 // P1.5: a nil within an interface is told apart from none, by each call.
 func TestNilIsToldApart(t *testing.T) {
-	for i, v := range wrapped(nobody) {
+	for i, v := range wrapped(sample.Nobody()) {
 		if i > 0 && value.Kind(v) == api.KNothing {
 			t.Error(i, "kind")
 		}
@@ -68,7 +69,7 @@ func TestNilIsToldApart(t *testing.T) {
 			t.Error(i, "same")
 		}
 	}
-	if value.Kind(nil) != api.KNil || value.Kind(nobody) != api.KNothing {
+	if value.Kind(nil) != api.KNil || value.Kind(sample.Nobody()) != api.KNothing {
 		t.Error("kinds")
 	}
 	if n, e := value.Check(nil); n != 0 || e != api.OK {

@@ -7,6 +7,7 @@ import (
 	"testing"
 
 	"tenon/api"
+	"tenon/sample"
 	"tenon/value"
 )
 
@@ -104,10 +105,10 @@ func TestOfAndPlain(t *testing.T) {
 		t api.Term
 		v any
 	}{
-		{api.Term{Kind: api.KNil}, nil}, {api.Term{Kind: api.KBool, Bool: true}, true}, {api.Term{Kind: api.KBool}, false}, {api.Term{Kind: api.KInt, Int: -7}, int64(-7)}, {api.Term{Kind: api.KFloat, Float: 1.5}, 1.5}, {api.Term{Kind: api.KFloat, Float: minusZero()}, minusZero()},
-		{api.Term{Kind: api.KFloat, Float: bits(0xfff8000000000123)}, bits(0xfff8000000000123)}, {api.Term{Kind: api.KText, Text: "a\xff"}, "a\xff"}, {api.Term{Kind: api.KBytes, Bytes: []byte{1, 2}}, []byte{1, 2}}, {api.Term{Kind: api.KBytes}, []byte{}}, {api.Term{Kind: api.KRef, Ref: 9}, api.Ref(9)},
-		{api.Term{Kind: api.KList}, api.List{}}, {api.Term{Kind: api.KList, List: []api.Term{{Kind: api.KNil}, {Kind: api.KInt, Int: 1}}}, api.List{nil, int64(1)}}, {api.Term{Kind: api.KDict}, api.Dict{}}, {api.Term{Kind: api.KDict, Fields: []api.Entry{entry("a", api.Term{Kind: api.KNil})}}, api.Dict{field("a", nil)}},
-		{api.Term{Kind: api.KRecord, Class: "c", Version: 2}, record("c", 2)}, {api.Term{Kind: api.KRecord, Class: "c", Version: 2, Fields: []api.Entry{entry("a", api.Term{Kind: api.KText, Text: "b"})}}, record("c", 2, field("a", "b"))},
+		{api.Term{Kind: api.KNil}, nil}, {api.Term{Kind: api.KBool, Bool: true}, true}, {api.Term{Kind: api.KBool}, false}, {api.Term{Kind: api.KInt, Int: -7}, int64(-7)}, {api.Term{Kind: api.KFloat, Float: 1.5}, 1.5}, {api.Term{Kind: api.KFloat, Float: sample.MinusZero()}, sample.MinusZero()},
+		{api.Term{Kind: api.KFloat, Float: sample.Bits(0xfff8000000000123)}, sample.Bits(0xfff8000000000123)}, {api.Term{Kind: api.KText, Text: "a\xff"}, "a\xff"}, {api.Term{Kind: api.KBytes, Bytes: []byte{1, 2}}, []byte{1, 2}}, {api.Term{Kind: api.KBytes}, []byte{}}, {api.Term{Kind: api.KRef, Ref: 9}, api.Ref(9)},
+		{api.Term{Kind: api.KList}, api.List{}}, {api.Term{Kind: api.KList, List: []api.Term{{Kind: api.KNil}, {Kind: api.KInt, Int: 1}}}, api.List{nil, int64(1)}}, {api.Term{Kind: api.KDict}, api.Dict{}}, {api.Term{Kind: api.KDict, Fields: []api.Entry{entry("a", api.Term{Kind: api.KNil})}}, api.Dict{sample.Field("a", nil)}},
+		{api.Term{Kind: api.KRecord, Class: "c", Version: 2}, sample.Record("c", 2)}, {api.Term{Kind: api.KRecord, Class: "c", Version: 2, Fields: []api.Entry{entry("a", api.Term{Kind: api.KText, Text: "b"})}}, sample.Record("c", 2, sample.Field("a", "b"))},
 	} {
 		for _, from := range []api.Term{x.t, litter(x.t)} {
 			if v, e := value.Of(from); e != api.OK || !value.Same(v, x.v) || value.Kind(v) != x.t.Kind {
@@ -122,13 +123,13 @@ func TestOfAndPlain(t *testing.T) {
 
 // P1.2: terms are wrong where values are, with the same errors; so Of is held against what Check says of the value.
 func TestOfWrong(t *testing.T) {
-	for _, x := range wrongValues() {
-		if strings.Contains(x.name, "ring") || x.name == "doubled" {
+	for _, x := range sample.Wrongs() {
+		if strings.Contains(x.Name, "ring") || x.Name == "doubled" {
 			continue
 		}
-		for _, from := range []api.Term{termOf(x.v), litter(termOf(x.v))} {
-			if v, e := value.Of(from); v != nil || e != x.why {
-				t.Errorf("%s: %v, %d, want %d", x.name, v, e, x.why)
+		for _, from := range []api.Term{termOf(x.V), litter(termOf(x.V))} {
+			if v, e := value.Of(from); v != nil || e != x.Why {
+				t.Errorf("%s: %v, %d, want %d", x.Name, v, e, x.Why)
 			}
 		}
 	}
@@ -144,7 +145,7 @@ func TestOfWrong(t *testing.T) {
 			t.Error("within,", x.kind, v, e)
 		}
 	}
-	for _, name := range badNames() {
+	for _, name := range sample.BadNames() {
 		for _, term := range []api.Term{{Kind: api.KRecord, Class: name, Version: 1}, {Kind: api.KDict, Fields: []api.Entry{entry(name, api.Term{Kind: api.KNil})}}} {
 			if v, e := value.Of(term); v != nil || e != api.ErrName {
 				t.Errorf("%q: %v, %d", name, v, e)
@@ -167,9 +168,9 @@ func TestOfWrong(t *testing.T) {
 
 // P1.2: with Check's error the zero term.
 func TestPlainWrong(t *testing.T) {
-	for _, x := range wrongValues() {
-		if p, e := value.Plain(x.v); e != x.why || !sameTerm(p, api.Term{}) {
-			t.Errorf("%s: %d, want %d", x.name, e, x.why)
+	for _, x := range sample.Wrongs() {
+		if p, e := value.Plain(x.V); e != x.Why || !sameTerm(p, api.Term{}) {
+			t.Errorf("%s: %d, want %d", x.Name, e, x.Why)
 		}
 	}
 }
@@ -177,9 +178,9 @@ func TestPlainWrong(t *testing.T) {
 // P1.6: there and back.
 func TestThereAndBack(t *testing.T) {
 	r := rand.New(rand.NewSource(6))
-	all := rich()
+	all := sample.Rich()
 	for range 2000 {
-		all = append(all, anyhow(r, 5))
+		all = append(all, sample.Anyhow(r.Intn, 5))
 	}
 	for i, v := range all {
 		p, e := value.Plain(v)
@@ -205,7 +206,7 @@ func TestTermsShareNothing(t *testing.T) {
 	parts := []api.Term{{Kind: api.KBytes, Bytes: b[:2]}, {Kind: api.KBytes, Bytes: b[:2]}}
 	entries := []api.Entry{entry("a", api.Term{Kind: api.KList, List: parts}), entry("b", api.Term{Kind: api.KList, List: parts})}
 	v, e := value.Of(api.Term{Kind: api.KRecord, Class: "c", Version: 1, Fields: entries})
-	want := record("c", 1, field("a", api.List{[]byte{1, 2}, []byte{1, 2}}), field("b", api.List{[]byte{1, 2}, []byte{1, 2}}))
+	want := sample.Record("c", 1, sample.Field("a", api.List{[]byte{1, 2}, []byte{1, 2}}), sample.Field("b", api.List{[]byte{1, 2}, []byte{1, 2}}))
 	if e != api.OK || !value.Same(v, want) {
 		t.Fatal(e)
 	}
