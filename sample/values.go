@@ -122,3 +122,39 @@ func anyFields(pick func(int) int, depth int) api.Dict {
 	}
 	return d
 }
+
+// Anything is a value, not deeper than that, by bits from a source of numbers; its own numbers, texts and bytes may be whatever they can be.
+func Anything(bits func() uint64, depth int) any {
+	pick := func(n int) int { return int(bits() % uint64(n)) }
+	switch pick(8) {
+	case 0:
+		return int64(bits()) >> pick(64)
+	case 1:
+		return Bits(bits())
+	case 2:
+		return Bits(bits() | 0x7ff<<52)
+	case 3:
+		return string(anyBytes(pick))
+	case 4:
+		return anyBytes(pick)
+	case 5:
+		return api.Ref(bits() >> pick(64))
+	case 6:
+		if depth > 1 {
+			return Record("c", 1+pick(api.MaxVersion), Field("a", Anything(bits, depth-1)), Field("b", Anything(bits, depth-1)))
+		}
+	case 7:
+		if depth > 1 {
+			return api.List{Anything(bits, depth-1), Anything(bits, depth-1)}
+		}
+	}
+	return Anyhow(pick, depth)
+}
+
+func anyBytes(pick func(int) int) []byte {
+	b := make([]byte, pick(20))
+	for i := range b {
+		b[i] = byte(pick(256))
+	}
+	return b
+}

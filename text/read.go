@@ -6,6 +6,7 @@ import (
 	"strings"
 
 	"tenon/api"
+	"tenon/names"
 )
 
 // fault is what a reader panics with when it gives up: at which place, and why.
@@ -264,9 +265,8 @@ func (r *reader) name(nth int, ahead string) string {
 	return strings.Clone(run)
 }
 
-// nameRule is of a run that has none but a name's bytes.
 func (r *reader) nameRule(run string, start int) {
-	if !isLetter(run[0]) || len(run) > api.MaxName {
+	if !names.Is(run) {
 		panic(fault{start, api.ErrName})
 	}
 }

@@ -13,35 +13,6 @@ import (
 	"tenon/value"
 )
 
-// anything is a value whose numbers, texts and bytes may be whatever they can be.
-func anything(r *rand.Rand, depth int) any {
-	switch r.Intn(8) {
-	case 0:
-		return int64(r.Uint64()) >> r.Intn(64)
-	case 1:
-		return sample.Bits(r.Uint64())
-	case 2:
-		return sample.Bits(r.Uint64() | 0x7ff<<52)
-	case 3:
-		return string(anyBytes(r))
-	case 4:
-		return anyBytes(r)
-	case 5:
-		return api.Ref(r.Uint64() >> r.Intn(64))
-	case 6:
-		if depth > 1 {
-			return sample.Record("c", 1+r.Intn(api.MaxVersion), sample.Field("a", anything(r, depth-1)), sample.Field("b", anything(r, depth-1)))
-		}
-	}
-	return sample.Anyhow(r.Intn, depth)
-}
-
-func anyBytes(r *rand.Rand) []byte {
-	b := make([]byte, r.Intn(20))
-	r.Read(b)
-	return b
-}
-
 // values are all that the tests of this file go through.
 func values() []any {
 	r := rand.New(rand.NewSource(3))
@@ -50,7 +21,7 @@ func values() []any {
 		all = append(all, x.v)
 	}
 	for range 3000 {
-		all = append(all, anything(r, 4))
+		all = append(all, sample.Anything(r.Uint64, 4))
 	}
 	return all
 }
@@ -166,7 +137,7 @@ func escapedAnyhow(r *rand.Rand, s string) string {
 func TestHowItIsWrittenPlaysNoPart(t *testing.T) {
 	r := rand.New(rand.NewSource(4))
 	for range 3000 {
-		v := anything(r, 4)
+		v := sample.Anything(r.Uint64, 4)
 		s := spread(t, r, v)
 		mustRead(t, s, v)
 		got, _, e := text.Parse(s)
@@ -187,7 +158,7 @@ func TestBeginnings(t *testing.T) {
 	r := rand.New(rand.NewSource(5))
 	all := texts()
 	for range 500 {
-		v := anything(r, 4)
+		v := sample.Anything(r.Uint64, 4)
 		all = append(all, said{v, spread(t, r, v)})
 	}
 	for _, x := range all {

@@ -1,6 +1,9 @@
 package value
 
-import "tenon/api"
+import (
+	"tenon/api"
+	"tenon/names"
+)
 
 // walk goes through the parts of a value, or of a term, in the order of their numbers. It gives up at the first part that is wrong, which is then the last one counted; so its way is bounded by the limits even where a value holds itself.
 type walk struct {
@@ -127,7 +130,7 @@ func lengthRule(n, most int) api.Errno {
 // headRule is of a record's class and version, which are asked ahead of its fields.
 func headRule(class string, version int) api.Errno {
 	switch {
-	case !isName(class):
+	case !names.Is(class):
 		return api.ErrName
 	case version < 1 || version > api.MaxVersion:
 		return api.ErrArg
@@ -143,26 +146,10 @@ func fieldsRule[F any](fields []F, nameOf func(F) string) api.Errno {
 	ahead := "" // every name is above it
 	for _, f := range fields {
 		name := nameOf(f)
-		if !isName(name) || name <= ahead {
+		if !names.Is(name) || name <= ahead {
 			return api.ErrName
 		}
 		ahead = name
 	}
 	return api.OK
 }
-
-func isName(s string) bool {
-	if s == "" || len(s) > api.MaxName || !isLetter(s[0]) {
-		return false
-	}
-	for i := 1; i < len(s); i++ {
-		if c := s[i]; !isLetter(c) && !isDigit(c) && c != '_' {
-			return false
-		}
-	}
-	return true
-}
-
-func isLetter(c byte) bool { return 'a' <= c && c <= 'z' }
-
-func isDigit(c byte) bool { return '0' <= c && c <= '9' }
