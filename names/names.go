@@ -9,12 +9,15 @@ func Is(s string) bool {
 		return false
 	}
 	for i := 1; i < len(s); i++ {
-		if c := s[i]; !isLetter(c) && !isDigit(c) && c != '_' {
+		if !Byte(s[i]) {
 			return false
 		}
 	}
 	return true
 }
+
+// Byte tells whether a byte may stand in a name, behind its first one.
+func Byte(c byte) bool { return isLetter(c) || isDigit(c) || c == '_' }
 
 func isLetter(c byte) bool { return 'a' <= c && c <= 'z' }
 

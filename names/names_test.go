@@ -31,6 +31,9 @@ func TestBytes(t *testing.T) {
 		if names.Is(b) != first || names.Is(b+"a") != first || names.Is("a"+b+"a") != further || names.Is("a"+b) != further {
 			t.Errorf("%q", b)
 		}
+		if names.Byte(byte(c)) != further {
+			t.Errorf("%q in a name", b)
+		}
 		last := strings.Repeat("a", api.MaxName-1) + b
 		if names.Is(last) != further || names.Is(last+b) {
 			t.Errorf("%q at the end of the longest", b)

@@ -78,7 +78,7 @@ func (r *reader) number() any {
 
 func (r *reader) word(depth int) any {
 	start := r.at
-	word := r.run(isOfName)
+	word := r.run(names.Byte)
 	switch {
 	case r.stands('/'):
 		r.nameRule(word, start)
@@ -251,7 +251,7 @@ func (r *reader) bracketed(open, shut byte, item func(nth int)) {
 func (r *reader) name(nth int, ahead string) string {
 	r.next()
 	start := r.at
-	run := r.run(isOfName)
+	run := r.run(names.Byte)
 	switch {
 	case run == "":
 		panic(fault{start, api.ErrForm})
@@ -323,8 +323,6 @@ func isLetter(c byte) bool { return 'a' <= c && c <= 'z' }
 func isDigit(c byte) bool { return '0' <= c && c <= '9' }
 
 func isDigit16(c byte) bool { return isDigit(c) || 'a' <= c && c <= 'f' }
-
-func isOfName(c byte) bool { return isLetter(c) || isDigit(c) || c == '_' }
 
 func isOfNumber(c byte) bool {
 	return isLetter(c) || isDigit(c) || c == '.' || c == '+' || c == '-'

@@ -1,0 +1,105 @@
+package sample
+
+import "tenon/api"
+
+// mark is what stands in spare room.
+const mark = "spare room"
+
+// Roomy is the same value with spare room behind each of its lists, fields and bytes, and marks in it.
+func Roomy(v any) any {
+	switch x := v.(type) {
+	case []byte:
+		return append(append(make([]byte, 0, len(x)+len(mark)), x...), mark...)[:len(x)]
+	case api.List:
+		l := make(api.List, 0, len(x)+2)
+		for _, part := range x {
+			l = append(l, Roomy(part))
+		}
+		return append(l, mark, mark)[:len(x)]
+	case api.Dict:
+		return roomyFields(x)
+	case *api.Record:
+		return Record(x.Class, x.Version, roomyFields(x.Fields)...)
+	}
+	return v
+}
+
+func roomyFields(d api.Dict) api.Dict {
+	c := make(api.Dict, 0, len(d)+2)
+	for _, f := range d {
+		c = append(c, Field(f.Name, Roomy(f.Value)))
+	}
+	return append(c, Field(mark, mark), Field(mark, mark))[:len(d)]
+}
+
+// RoomKept tells whether the marks still stand in a value that Roomy made.
+func RoomKept(v any) bool {
+	switch x := v.(type) {
+	case []byte:
+		return string(x[len(x):cap(x)][:len(mark)]) == mark
+	case api.List:
+		for _, part := range x {
+			if !RoomKept(part) {
+				return false
+			}
+		}
+		room := x[len(x):cap(x)]
+		return room[0] == mark && room[1] == mark
+	case api.Dict:
+		return fieldsRoomKept(x)
+	case *api.Record:
+		return fieldsRoomKept(x.Fields)
+	}
+	return true
+}
+
+func fieldsRoomKept(d api.Dict) bool {
+	for _, f := range d {
+		if !RoomKept(f.Value) {
+			return false
+		}
+	}
+	room := d[len(d):cap(d)]
+	return room[0] == Field(mark, mark) && room[1] == Field(mark, mark)
+}
+
+// Spoil writes over all that a value holds, spare room too: whoever shares memory with it does not read as before.
+func Spoil(v any) {
+	switch x := v.(type) {
+	case []byte:
+		x = x[:cap(x)]
+		for i := range x {
+			x[i] = 0xee
+		}
+	case api.List:
+		x = x[:cap(x)]
+		for i, part := range x {
+			x[i] = "spoilt"
+			Spoil(part)
+		}
+	case api.Dict:
+		spoilFields(x)
+	case *api.Record:
+		if x != nil {
+			d := x.Fields
+			*x = api.Record{Class: "spoilt"}
+			spoilFields(d)
+		}
+	}
+}
+
+func spoilFields(d api.Dict) {
+	d = d[:cap(d)]
+	for i, f := range d {
+		d[i] = Field("spoilt", "spoilt")
+		Spoil(f.Value)
+	}
+}
+
+// SpoilWay does likewise with a way.
+func SpoilWay(way []api.Step) {
+	way = way[:cap(way)]
+	for i := range way {
+		way[i] = api.Step{Name: "spoilt", At: true, Index: -1}
+	}
+}
