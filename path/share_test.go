@@ -10,21 +10,7 @@ import (
 	"tenon/value"
 )
 
-// twofold holds one list, one dict, one record and one run of bytes at two places each, all of them with spare room.
-func twofold() any {
-	b := sample.Roomy([]byte{1, 2})
-	l := sample.Roomy(api.List{nil, true})
-	l.(api.List)[0] = b
-	d := sample.Roomy(api.Dict{sample.Field("b", nil), sample.Field("l", nil)})
-	d.(api.Dict)[0].Value, d.(api.Dict)[1].Value = b, l
-	r := sample.Record("r", 1, d.(api.Dict)...)
-	v := sample.Roomy(api.List{nil, nil, nil, nil, nil, nil, nil, nil, "x"}).(api.List)
-	for i, part := range []any{b, l, d, r, b, l, d, r} {
-		v[i] = part
-	}
-	return v
-}
-
+// twofoldText is sample.Twofold as text.
 const twofoldText = `[#0102, [#0102, true], {b: #0102, l: [#0102, true]}, r/1{b: #0102, l: [#0102, true]}, #0102, [#0102, true], {b: #0102, l: [#0102, true]}, r/1{b: #0102, l: [#0102, true]}, "x"]`
 
 // kept tells whether a value that was handed in still reads as it read, spare room and all.
@@ -35,24 +21,17 @@ func kept(t *testing.T, what string, v any) {
 	}
 }
 
-// apart spoils parts of an answer one by one, and sees that those behind still read as before.
+// apart sees that no two parts of an answer share memory; it writes over them.
 func apart(t *testing.T, what string, parts ...any) {
 	t.Helper()
-	var want []string
-	for _, x := range parts {
-		want = append(want, say(x))
-	}
-	for i, x := range parts {
-		if say(x) != want[i] {
-			t.Errorf("%s: part %d of the answer shares memory with one ahead: %s, was %s", what, i, say(x), want[i])
-		}
-		sample.Spoil(x)
+	if at, ok := sample.Apart(parts...); !ok {
+		t.Errorf("%s: part %d of the answer shares memory with one ahead", what, at)
 	}
 }
 
 // P4.11: Get, Put, Delete leave alone what they are handed, and answer memory of their own.
 func TestEditsTouchNothing(t *testing.T) {
-	v := twofold()
+	v := sample.Twofold()
 	if say(v) != twofoldText || !sample.RoomKept(v) {
 		t.Fatal("the test's own value:", say(v))
 	}
@@ -66,7 +45,7 @@ func TestEditsTouchNothing(t *testing.T) {
 		room := l[len(l):cap(l)]
 		room[0], room[1] = name("room"), index(7)
 		before := slices.Clone(l)
-		x := twofold()
+		x := sample.Twofold()
 		for what, call := range map[string]func() (any, api.Errno){
 			"Get": func() (any, api.Errno) { return path.Get(v, l) }, "Put": func() (any, api.Errno) { return path.Put(v, l, x) }, "Put of its own part": func() (any, api.Errno) { return path.Put(v, l, v.(api.List)[5]) }, "Delete": func() (any, api.Errno) { return path.Delete(v, l) },
 			"Apply, Set": func() (any, api.Errno) { return path.Apply(v, []api.Edit{{What: api.Set, Way: l, Value: x}}) }, "Apply, Add": func() (any, api.Errno) { return path.Apply(v, []api.Edit{{What: api.Add, Way: l, Value: x}}) }, "Apply, Drop": func() (any, api.Errno) { return path.Apply(v, []api.Edit{{What: api.Drop, Way: l, Value: x}}) },
@@ -100,7 +79,7 @@ func TestEditsTouchNothing(t *testing.T) {
 
 // P4.11: what is put may be written into behind the call.
 func TestPutKeepsNothing(t *testing.T) {
-	v, x := twofold(), twofold()
+	v, x := sample.Twofold(), sample.Twofold()
 	put, e := path.Put(v, way("[1][2]"), x)
 	applied, ea := path.Apply(v, []api.Edit{{What: api.Add, Way: way("[1][2]"), Value: x}, {What: api.Add, Way: way("[2].z"), Value: x}})
 	if e != api.OK || ea != api.OK {
@@ -118,7 +97,7 @@ func TestPutKeepsNothing(t *testing.T) {
 func TestVisitorsTouchNothing(t *testing.T) {
 	var want, got shown
 	var parts []any
-	v := twofold()
+	v := sample.Twofold()
 	path.Walk(v, func(way []api.Step, part any) int { want.add(way, part); parts = append(parts, part); return api.GoOn })
 	kept(t, "Walk", v)
 	apart(t, "Walk", parts...)
@@ -138,7 +117,7 @@ func TestVisitorsTouchNothing(t *testing.T) {
 		}
 	}
 
-	v = twofold()
+	v = sample.Twofold()
 	var ways [][]api.Step
 	l, e := path.Find(v, func(part any) bool { sample.Spoil(part); return true })
 	kept(t, "Find", v)
@@ -157,7 +136,7 @@ func TestVisitorsTouchNothing(t *testing.T) {
 
 // P4.11: a changer may keep and write into what it was shown and what it answered.
 func TestChangersTouchNothing(t *testing.T) {
-	v := twofold()
+	v := sample.Twofold()
 	var keeps []any
 	got, e := path.Map(v, func(way []api.Step, part any) (any, api.Errno) {
 		answer, _ := value.Copy(part)
@@ -191,10 +170,10 @@ func TestChangersTouchNothing(t *testing.T) {
 		t.Error("what was answered is shared:", say(one))
 	}
 
-	own := twofold()
+	own := sample.Twofold()
 	got, e = path.Map(own, func(way []api.Step, part any) (any, api.Errno) { sample.Spoil(own); return part, api.OK })
 	answers(t, "what was handed in, written into", got, e, twofoldText, api.OK)
-	own = twofold()
+	own = sample.Twofold()
 	got, e = path.Map(own, func(way []api.Step, part any) (any, api.Errno) { return own, api.OK })
 	answers(t, "what was handed in, answered", got, e, twofoldText, api.OK)
 	apart(t, "what was handed in, answered", got.(api.List)...)
@@ -239,7 +218,7 @@ func TestWaysShownAreApart(t *testing.T) {
 
 // P4.11: Diff leaves both alone, and its edits share nothing.
 func TestDiffTouchesNothing(t *testing.T) {
-	b := twofold()
+	b := sample.Twofold()
 	for _, a := range []any{nil, api.List{}, val("[nil, [nil], {a: 1, l: 2}, r/1{a: 1}, 4, [], {}, r/1{}, 8]"), val("[nil, [nil], {a: 1}, r/2{a: 1}]")} {
 		before := say(a)
 		l, e := path.Diff(a, b)

@@ -1,9 +1,7 @@
 package path_test
 
 import (
-	"errors"
 	"math/rand"
-	"runtime"
 	"strings"
 	"testing"
 
@@ -206,16 +204,11 @@ func TestFind(t *testing.T) {
 	}
 }
 
-// thrown is what functions panic with.
-func thrown() []any {
-	return []any{1, "text", errors.New("error"), api.ErrArg, api.OK, nil, struct{}{}, func() {}, &runtime.TypeAssertionError{}, (*api.Record)(nil), []byte{1}}
-}
-
 // P4.5 to P4.7, section 4.2: a function that panics is caught, wherever it does, and is not called again.
 func TestPanics(t *testing.T) {
 	calls := 0
 	for n := 1; n <= 9; n++ {
-		for _, x := range thrown() {
+		for _, x := range sample.Thrown() {
 			throw := func() {
 				if calls++; calls == n {
 					panic(x)
@@ -235,7 +228,7 @@ func TestPanics(t *testing.T) {
 			}
 		}
 	}
-	if e := path.Walk(nil, func([]api.Step, any) int { return []int{}[len(thrown())] }); e != api.ErrPanic {
+	if e := path.Walk(nil, func([]api.Step, any) int { return []int{}[calls] }); e != api.ErrPanic {
 		t.Error("a mistake of the visitor's:", e)
 	}
 }

@@ -1,6 +1,9 @@
 package sample
 
-import "tenon/api"
+import (
+	"tenon/api"
+	"tenon/value"
+)
 
 // mark is what stands in spare room.
 const mark = "spare room"
@@ -102,4 +105,35 @@ func SpoilWay(way []api.Step) {
 	for i := range way {
 		way[i] = api.Step{Name: "spoilt", At: true, Index: -1}
 	}
+}
+
+// Twofold holds one list, one dict, one record and one run of bytes at two places each, all of them with spare room as Roomy makes it.
+func Twofold() any {
+	b := Roomy([]byte{1, 2})
+	l := Roomy(api.List{nil, true}).(api.List)
+	l[0] = b
+	d := Roomy(api.Dict{Field("b", nil), Field("l", nil)}).(api.Dict)
+	d[0].Value, d[1].Value = b, l
+	r := Record("r", 1, d...)
+	v := Roomy(api.List{nil, nil, nil, nil, nil, nil, nil, nil, "x"}).(api.List)
+	for i, part := range []any{b, l, d, r, b, l, d, r} {
+		v[i] = part
+	}
+	return v
+}
+
+// Apart writes over values, one behind the other, and tells whether each still reads as before when it is come to; if not, which one is the first that does not.
+func Apart(values ...any) (int, bool) {
+	var before []any
+	for _, v := range values {
+		c, _ := value.Copy(v)
+		before = append(before, c)
+	}
+	for i, v := range values {
+		if !value.Same(v, before[i]) {
+			return i, false
+		}
+		Spoil(v)
+	}
+	return 0, true
 }
