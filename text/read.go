@@ -7,47 +7,28 @@ import (
 
 	"tenon/api"
 	"tenon/names"
+	"tenon/scan"
 )
 
-// fault is what a reader panics with when it gives up: at which place, and why.
-type fault struct {
-	at  int
-	why api.Errno
-}
-
-// read has a text read, and catches a reader that gives up; so those that read parts go on as if nothing could be wrong. Any other panic would be a mistake of this package: it is not hidden.
-func read(s string, by func(*reader) (any, int)) (v any, at int, why api.Errno) {
-	defer func() {
-		switch f := recover().(type) {
-		case nil:
-		case fault:
-			v, at, why = nil, f.at, f.why
-		default:
-			panic(f)
-		}
-	}()
-	v, at = by(&reader{text: s})
-	return v, at, api.OK
-}
-
-// reader goes through a text from left to right, so that the first error is the one it gives up with.
+// reader reads values.
 type reader struct {
-	text  string
-	at    int // up to where it has read
+	scan.Reader
 	parts int // how many values have begun
 }
 
+func readerOf(s string) *reader { return &reader{Reader: scan.Reader{Text: s}} }
+
 // value reads the next value, which lies that deep and is the nth (from 0) of its list. Whether a field is one too many its name has told before.
 func (r *reader) value(depth, nth int) any {
-	c := r.next()
+	c := r.Next()
 	if r.parts >= api.MaxNodes || depth > api.MaxDepth || nth >= api.MaxItems {
-		panic(fault{r.at, api.ErrLong})
+		panic(scan.Fault{At: r.At, Why: api.ErrLong})
 	}
 	r.parts++
 	switch {
-	case isDigit(c) || c == '+' || c == '-':
+	case scan.Digit(c) || c == '+' || c == '-':
 		return r.number()
-	case isLetter(c):
+	case scan.Letter(c):
 		return r.word(depth)
 	case c == '"':
 		return r.quoted()
@@ -60,32 +41,28 @@ func (r *reader) value(depth, nth int) any {
 	case c == '{':
 		return r.fields(depth)
 	}
-	panic(fault{r.at, api.ErrForm})
+	panic(scan.Fault{At: r.At, Why: api.ErrForm})
 }
 
 // number takes a run just if it is what would be written for the number that it says: so there is one text for each.
 func (r *reader) number() any {
-	start := r.at
-	run := r.run(isOfNumber)
+	start := r.At
+	run := r.Run(isOfNumber)
 	if n, err := strconv.ParseInt(run, 10, 64); err == nil && strconv.FormatInt(n, 10) == run {
 		return n
 	}
 	if f, err := strconv.ParseFloat(run, 64); err == nil && Float(f) == run {
 		return f
 	}
-	panic(fault{start, api.ErrForm})
+	panic(scan.Fault{At: start, Why: api.ErrForm})
 }
 
 func (r *reader) word(depth int) any {
-	start := r.at
-	word := r.run(names.Byte)
+	word, start := r.Word()
 	switch {
-	case r.stands('/'):
-		r.nameRule(word, start)
-		r.at++
-		version := r.version()
-		return &api.Record{Class: strings.Clone(word), Version: version, Fields: r.fields(depth)}
-	case word == "nan" && r.stands('('):
+	case r.Stands('/'):
+		return r.record(word, start, depth)
+	case word == "nan" && r.Stands('('):
 		return r.nan(start)
 	case word == "nil":
 		return nil
@@ -94,58 +71,52 @@ func (r *reader) word(depth int) any {
 	case word == "false":
 		return false
 	}
-	panic(fault{start, api.ErrForm})
+	panic(scan.Fault{At: start, Why: api.ErrForm})
 }
 
-func (r *reader) version() int {
-	start := r.at
-	digits := r.run(isDigit)
-	switch {
-	case digits == "" && r.atEnd():
-		panic(fault{start, api.ErrShort})
-	case digits == "" || hasZeroAhead(digits):
-		panic(fault{start, api.ErrForm})
+// record reads what comes behind a class, which stands at start.
+func (r *reader) record(class string, start, depth int) *api.Record {
+	if !names.Is(class) {
+		panic(scan.Fault{At: start, Why: api.ErrName})
 	}
-	n, err := strconv.Atoi(digits)
-	if err != nil || n < 1 || n > api.MaxVersion {
-		panic(fault{start, api.ErrArg})
-	}
-	return n
+	r.At++
+	version := r.Version()
+	return &api.Record{Class: strings.Clone(class), Version: version, Fields: r.fields(depth)}
 }
 
 // nan goes by what would be written for the bits that it finds: no other float's text begins with nan, and too many digits are none of 64 bits.
 func (r *reader) nan(start int) float64 {
-	r.at++
-	bits, _ := strconv.ParseUint(r.run(isDigit16), 16, 64)
+	r.At++
+	bits, _ := strconv.ParseUint(r.Run(isDigit16), 16, 64)
 	f := math.Float64frombits(bits)
 	whole := Float(f)
-	if !strings.HasPrefix(r.text[start:], whole) {
-		panic(fault{start, api.ErrForm})
+	if !strings.HasPrefix(r.Text[start:], whole) {
+		panic(scan.Fault{At: start, Why: api.ErrForm})
 	}
-	r.at = start + len(whole)
+	r.At = start + len(whole)
 	return f
 }
 
 func (r *reader) quoted() string {
-	start := r.at
-	r.at++
+	start := r.At
+	r.At++
 	out := []byte{}
-	for !r.stands('"') {
+	for !r.Stands('"') {
 		out = append(out, r.quotedByte())
 	}
-	r.at++
+	r.At++
 	if len(out) > api.MaxText {
-		panic(fault{start, api.ErrLong})
+		panic(scan.Fault{At: start, Why: api.ErrLong})
 	}
 	return string(out)
 }
 
 func (r *reader) quotedByte() byte {
-	start := r.at
+	start := r.At
 	c := r.take()
 	switch {
 	case !isPlain(c):
-		panic(fault{start, api.ErrForm})
+		panic(scan.Fault{At: start, Why: api.ErrForm})
 	case c == '\\':
 		return r.escaped(start)
 	}
@@ -167,26 +138,26 @@ func (r *reader) escaped(start int) byte {
 		high := r.escapedDigit(start)
 		return high<<4 | r.escapedDigit(start)
 	}
-	panic(fault{start, api.ErrForm})
+	panic(scan.Fault{At: start, Why: api.ErrForm})
 }
 
 func (r *reader) escapedDigit(start int) byte {
 	c := r.take()
 	if !isDigit16(c) {
-		panic(fault{start, api.ErrForm})
+		panic(scan.Fault{At: start, Why: api.ErrForm})
 	}
 	return digitOf(c)
 }
 
 func (r *reader) bytes() []byte {
-	start := r.at
-	r.at++
-	digits := r.run(isDigit16)
+	start := r.At
+	r.At++
+	digits := r.Run(isDigit16)
 	switch {
 	case len(digits)%2 != 0:
-		panic(fault{start, api.ErrForm})
+		panic(scan.Fault{At: start, Why: api.ErrForm})
 	case len(digits) > 2*api.MaxText:
-		panic(fault{start, api.ErrLong})
+		panic(scan.Fault{At: start, Why: api.ErrLong})
 	}
 	b := make([]byte, len(digits)/2)
 	for i := range b {
@@ -196,19 +167,19 @@ func (r *reader) bytes() []byte {
 }
 
 func (r *reader) ref() api.Ref {
-	start := r.at
-	r.at++
-	digits := r.run(isDigit)
+	start := r.At
+	r.At++
+	digits := r.Run(scan.Digit)
 	n, err := strconv.ParseUint(digits, 10, 64)
-	if err != nil || hasZeroAhead(digits) {
-		panic(fault{start, api.ErrForm})
+	if err != nil || scan.ZeroAhead(digits) {
+		panic(scan.Fault{At: start, Why: api.ErrForm})
 	}
 	return api.Ref(n)
 }
 
 func (r *reader) list(depth int) api.List {
 	l := api.List{}
-	r.bracketed('[', ']', func(nth int) {
+	r.Bracketed('[', ']', func(nth int) {
 		l = append(l, r.value(depth+1, nth))
 	})
 	return l
@@ -217,123 +188,33 @@ func (r *reader) list(depth int) api.List {
 func (r *reader) fields(depth int) api.Dict {
 	d := api.Dict{}
 	ahead := "" // every name is above it
-	r.bracketed('{', '}', func(nth int) {
-		name := r.name(nth, ahead)
-		r.mark(':')
+	r.Bracketed('{', '}', func(nth int) {
+		name := r.FieldName(nth, ahead)
+		r.Mark(':')
 		d = append(d, api.Field{Name: name, Value: r.value(depth+1, 0)})
 		ahead = name
 	})
 	return d
 }
 
-// bracketed reads brackets and the items between them, with commas between these; the nth item by a call of item.
-func (r *reader) bracketed(open, shut byte, item func(nth int)) {
-	r.mark(open)
-	if r.next() == shut {
-		r.at++
-		return
-	}
-	for nth := 0; ; nth++ {
-		item(nth)
-		switch r.next() {
-		case ',':
-			r.at++
-		case shut:
-			r.at++
-			return
-		default:
-			panic(fault{r.at, api.ErrForm})
-		}
-	}
-}
-
-// name reads the name of the nth field, which comes behind one of the name ahead.
-func (r *reader) name(nth int, ahead string) string {
-	r.next()
-	start := r.at
-	run := r.run(names.Byte)
-	switch {
-	case run == "":
-		panic(fault{start, api.ErrForm})
-	case nth >= api.MaxItems:
-		panic(fault{start, api.ErrLong})
-	}
-	r.nameRule(run, start)
-	if run <= ahead {
-		panic(fault{start, api.ErrName})
-	}
-	return strings.Clone(run)
-}
-
-func (r *reader) nameRule(run string, start int) {
-	if !names.Is(run) {
-		panic(fault{start, api.ErrName})
-	}
-}
-
-// mark reads a bracket or a colon.
-func (r *reader) mark(c byte) {
-	if r.next() != c {
-		panic(fault{r.at, api.ErrForm})
-	}
-	r.at++
-}
-
-// next is the first byte that is no blank; it is not read yet.
-func (r *reader) next() byte {
-	r.skipBlanks()
-	r.endRule()
-	return r.text[r.at]
-}
-
-// take reads a byte, whichever.
+// take reads a byte, whichever, which must come; a blank is one, too.
 func (r *reader) take() byte {
-	r.endRule()
-	r.at++
-	return r.text[r.at-1]
-}
-
-// endRule is of places where something must come.
-func (r *reader) endRule() {
-	if r.atEnd() {
-		panic(fault{r.at, api.ErrShort})
+	if r.AtEnd() {
+		panic(scan.Fault{At: r.At, Why: api.ErrShort})
 	}
+	r.At++
+	return r.Text[r.At-1]
 }
 
-func (r *reader) atEnd() bool { return r.at == len(r.text) }
-
-// stands tells whether that byte comes right here.
-func (r *reader) stands(c byte) bool { return !r.atEnd() && r.text[r.at] == c }
-
-func (r *reader) skipBlanks() { r.run(isBlank) }
-
-// run reads as many bytes as are of a sort.
-func (r *reader) run(isOf func(byte) bool) string {
-	start := r.at
-	for !r.atEnd() && isOf(r.text[r.at]) {
-		r.at++
-	}
-	return r.text[start:r.at]
-}
-
-func isBlank(c byte) bool { return c == ' ' || c == '\t' || c == '\n' || c == '\r' }
-
-func isLetter(c byte) bool { return 'a' <= c && c <= 'z' }
-
-func isDigit(c byte) bool { return '0' <= c && c <= '9' }
-
-func isDigit16(c byte) bool { return isDigit(c) || 'a' <= c && c <= 'f' }
+func isDigit16(c byte) bool { return scan.Digit(c) || 'a' <= c && c <= 'f' }
 
 func isOfNumber(c byte) bool {
-	return isLetter(c) || isDigit(c) || c == '.' || c == '+' || c == '-'
+	return scan.Letter(c) || scan.Digit(c) || c == '.' || c == '+' || c == '-'
 }
 
 func digitOf(c byte) byte {
-	if isDigit(c) {
+	if scan.Digit(c) {
 		return c - '0'
 	}
 	return c - 'a' + 10
 }
-
-// hasZeroAhead does not hold of nought itself, whose text is one digit.
-func hasZeroAhead(digits string) bool { return len(digits) > 1 && digits[0] == '0' }

@@ -66,38 +66,7 @@ func termOf(v any) api.Term {
 var rubbish = api.Term{Bool: true, Int: 5, Float: math.NaN(), Text: strings.Repeat("x", api.MaxText+1), Bytes: make([]byte, api.MaxText+1), Ref: 6, List: make([]api.Term, api.MaxItems+1), Fields: []api.Entry{entry("A", api.Term{})}, Class: "A", Version: -1}
 
 // litter puts rubbish into all of a term's fields but those of its kind.
-func litter(t api.Term) api.Term {
-	d := rubbish
-	d.Kind = t.Kind
-	switch t.Kind {
-	case api.KBool:
-		d.Bool = t.Bool
-	case api.KInt:
-		d.Int = t.Int
-	case api.KFloat:
-		d.Float = t.Float
-	case api.KText:
-		d.Text = t.Text
-	case api.KBytes:
-		d.Bytes = t.Bytes
-	case api.KRef:
-		d.Ref = t.Ref
-	case api.KList:
-		d.List = nil
-		for _, x := range t.List {
-			d.List = append(d.List, litter(x))
-		}
-	case api.KRecord, api.KDict:
-		d.Fields = nil
-		for _, x := range t.Fields {
-			d.Fields = append(d.Fields, entry(x.Name, litter(x.Value)))
-		}
-		if t.Kind == api.KRecord {
-			d.Class, d.Version = t.Class, t.Version
-		}
-	}
-	return d
-}
+func litter(t api.Term) api.Term { return sample.Littered(t, rubbish) }
 
 // P1.2: of each kind its own fields and no others.
 func TestOfAndPlain(t *testing.T) {

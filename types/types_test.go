@@ -1,0 +1,110 @@
+package types_test
+
+import (
+	"fmt"
+	"strings"
+	"testing"
+
+	"tenon/api"
+	"tenon/sample"
+	"tenon/types"
+	"tenon/value"
+)
+
+// plain is all that a type or term says, nil and empty lists alike.
+func plain(x any) string { return strings.ReplaceAll(fmt.Sprintf("%#v", x), "(nil)", "{}") }
+
+func TestCan(t *testing.T) {
+	for i, x := range sample.Types() {
+		if !types.Can(x) {
+			t.Errorf("%d: %.100s can be", i, plain(x))
+		}
+	}
+	for _, x := range sample.WrongTypes() {
+		if types.Can(x.T) {
+			t.Errorf("%s can't be", x.Name)
+		}
+	}
+	for kind := -1; kind <= 12; kind++ {
+		if can := types.Can(sample.OfKind(kind)); can != (kind >= 1 && kind <= 10) {
+			t.Error("kind", kind, can)
+		}
+	}
+}
+
+// What a kind does not use plays no part.
+func TestClutter(t *testing.T) {
+	for i, x := range sample.Types() {
+		c := sample.Cluttered(x)
+		if !types.Can(c) {
+			t.Errorf("%d with clutter: %.100s", i, plain(x))
+		}
+		if got := types.Copy(c); plain(got) != plain(x) {
+			t.Errorf("%d: a copy is %.100s, want %.100s", i, plain(got), plain(x))
+		}
+	}
+	for _, x := range sample.WrongTypes() {
+		c := x.T
+		c.Only, c.Of = sample.Term(nil), api.KInt
+		if c.Kind != api.TOnly && c.Kind != api.TKind && types.Can(c) {
+			t.Errorf("%s with a good kind and term", x.Name)
+		}
+	}
+}
+
+func TestCopyTerm(t *testing.T) {
+	for i, v := range sample.Rich() {
+		want := sample.Term(v)
+		got := types.CopyTerm(sample.ClutteredTerm(want))
+		if plain(got) != plain(want) {
+			t.Errorf("%d: %.100s, want %.100s", i, plain(got), plain(want))
+		}
+		if w, e := value.Of(got); e != api.OK || !value.Same(w, v) {
+			t.Errorf("%d: another value, %d", i, e)
+		}
+	}
+}
+
+// threefold is a type that holds one dict's type at three places, with spare room and clutter.
+func threefold() api.Type {
+	term := sample.Term(api.List{[]byte{1}, api.Dict{sample.Field("a", int64(1))}})
+	dict := sample.OpenDict("a", sample.OfKind(api.KInt), "b?", api.Type{Kind: api.TOnly, Only: term})
+	x := sample.Cluttered(sample.Union(dict, dict, sample.ListOf(dict)))
+	x.Parts[1], x.Parts[2].Parts[0] = x.Parts[0], x.Parts[0]
+	return x
+}
+
+// A copy shares none of its lists with the type, spare room too, nor any two of its own with each other.
+func TestCopyShares(t *testing.T) {
+	x := threefold()
+	c, want := types.Copy(x), types.Copy(threefold())
+	spoil(&x.Parts[0])
+	if plain(c) != plain(want) {
+		t.Error("the copy changes with the type")
+	}
+	spoil(&c.Parts[0])
+	if plain(c.Parts[1]) != plain(want.Parts[1]) || plain(c.Parts[2]) != plain(want.Parts[2]) {
+		t.Error("parts of a copy change with one another")
+	}
+	spoil(&c.Parts[1])
+	if plain(c.Parts[2]) != plain(want.Parts[2]) {
+		t.Error("deeper parts of a copy change with others")
+	}
+}
+
+// spoil writes over all lists of a dict's type as threefold makes it.
+func spoil(t *api.Type) {
+	only := t.Parts[1].Only
+	only.List[0].Bytes[0] = 77
+	only.List[1].Fields[0].Name = "spoilt"
+	only.List[0].Kind = 77
+	for i := range t.Names[:cap(t.Names)] {
+		t.Names[:cap(t.Names)][i] = "spoilt"
+	}
+	for i := range t.Lacks[:cap(t.Lacks)] {
+		t.Lacks[:cap(t.Lacks)][i] = i == 0
+	}
+	for i := range t.Parts[:cap(t.Parts)] {
+		t.Parts[:cap(t.Parts)][i] = api.Type{Kind: 99}
+	}
+}
