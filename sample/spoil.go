@@ -99,6 +99,36 @@ func spoilFields(d api.Dict) {
 	}
 }
 
+// SpoilType does likewise with a type that does not hold itself.
+func SpoilType(t api.Type) {
+	names, lacks, parts := t.Names[:cap(t.Names)], t.Lacks[:cap(t.Lacks)], t.Parts[:cap(t.Parts)]
+	for i := range names {
+		names[i] = "spoilt"
+	}
+	for i := range lacks {
+		lacks[i] = i%2 == 0
+	}
+	for i, part := range parts {
+		parts[i] = api.Type{Kind: 99}
+		SpoilType(part)
+	}
+	SpoilTerm(t.Only)
+}
+
+// SpoilTerm does likewise with a term that does not hold itself.
+func SpoilTerm(t api.Term) {
+	Spoil(t.Bytes)
+	list, fields := t.List[:cap(t.List)], t.Fields[:cap(t.Fields)]
+	for i, part := range list {
+		list[i] = api.Term{Kind: 99}
+		SpoilTerm(part)
+	}
+	for i, x := range fields {
+		fields[i] = api.Entry{Name: "spoilt"}
+		SpoilTerm(x.Value)
+	}
+}
+
 // SpoilWay does likewise with a way.
 func SpoilWay(way []api.Step) {
 	way = way[:cap(way)]

@@ -78,33 +78,16 @@ func threefold() api.Type {
 func TestCopyShares(t *testing.T) {
 	x := threefold()
 	c, want := types.Copy(x), types.Copy(threefold())
-	spoil(&x.Parts[0])
+	sample.SpoilType(x.Parts[0])
 	if plain(c) != plain(want) {
 		t.Error("the copy changes with the type")
 	}
-	spoil(&c.Parts[0])
+	sample.SpoilType(c.Parts[0])
 	if plain(c.Parts[1]) != plain(want.Parts[1]) || plain(c.Parts[2]) != plain(want.Parts[2]) {
 		t.Error("parts of a copy change with one another")
 	}
-	spoil(&c.Parts[1])
+	sample.SpoilType(c.Parts[1])
 	if plain(c.Parts[2]) != plain(want.Parts[2]) {
 		t.Error("deeper parts of a copy change with others")
-	}
-}
-
-// spoil writes over all lists of a dict's type as threefold makes it.
-func spoil(t *api.Type) {
-	only := t.Parts[1].Only
-	only.List[0].Bytes[0] = 77
-	only.List[1].Fields[0].Name = "spoilt"
-	only.List[0].Kind = 77
-	for i := range t.Names[:cap(t.Names)] {
-		t.Names[:cap(t.Names)][i] = "spoilt"
-	}
-	for i := range t.Lacks[:cap(t.Lacks)] {
-		t.Lacks[:cap(t.Lacks)][i] = i == 0
-	}
-	for i := range t.Parts[:cap(t.Parts)] {
-		t.Parts[:cap(t.Parts)][i] = api.Type{Kind: 99}
 	}
 }
