@@ -54,55 +54,13 @@ func TestClassClutter(t *testing.T) {
 	}
 }
 
-// wrongClass is a class that can't be, and why.
-type wrongClass struct {
-	name string
-	c    api.Class
-	why  api.Errno
-}
-
-// wrongField is a class whose second field is that one.
-func wrongField(f api.FieldOf) api.Class { return class("a", 1, some("a"), f, some("z")) }
-
-// wrongClasses is each rule of 6.2 broken by itself, and each order of errors that it gives.
-func wrongClasses() []wrongClass {
-	many := someFields(0, api.MaxItems+1)
-	badType, badDefault := field("b", api.Type{}), api.FieldOf{Name: "b", Type: sample.AnyValue(), Has: true}
-	l := []wrongClass{
-		{"zero", api.Class{}, api.ErrName}, {"all wrong", child("A", 0, "B", 0, many...), api.ErrName}, {"all but the name", child("a", 0, "B", 0, many...), api.ErrArg}, {"all from the parent on", child("a", 1, "B", 0, many...), api.ErrName}, {"the parent's version and the fields", child("a", 1, "b", 0, many...), api.ErrArg}, {"a version without a parent, and the fields", child("a", 1, "", 1, many...), api.ErrArg}, {"too many ahead of wrong ones", class("a", 1, append(many, api.FieldOf{})...), api.ErrLong},
-		{"version 0", class("a", 0), api.ErrArg}, {"version below", class("a", -1), api.ErrArg}, {"version beyond", class("a", api.MaxVersion+1), api.ErrArg},
-		{"parent's version 0", child("a", 1, "b", 0), api.ErrArg}, {"parent's version below", child("a", 1, "b", -1), api.ErrArg}, {"parent's version beyond", child("a", 1, "b", api.MaxVersion+1), api.ErrArg}, {"no parent's version below", child("a", 1, "", -1), api.ErrArg}, {"no parent's version", child("a", 1, "", 1), api.ErrArg},
-		{"too many", class("a", 1, many...), api.ErrLong},
-		{"a name again", class("a", 1, some("b"), some("b")), api.ErrName}, {"names falling", class("a", 1, some("b"), some("a")), api.ErrName}, {"no name ahead of no type", wrongField(field("B", api.Type{})), api.ErrName}, {"no was ahead of no type", wrongField(was(badType, "B")), api.ErrName}, {"no type ahead of no default", wrongField(api.FieldOf{Name: "b", Has: true}), api.ErrType}, {"no default", wrongField(badDefault), api.ErrKind},
-		{"the first field first", class("a", 1, badDefault, field("C", api.Type{})), api.ErrKind}, {"the first field first, by type", class("a", 1, badType, some("b")), api.ErrType}, {"the second field behind a good one", class("a", 1, some("b"), some("a"), badType), api.ErrName},
-	}
-	for _, name := range sample.BadNames() {
-		l = append(l, wrongClass{"class " + name, class(name, 1), api.ErrName}, wrongClass{"field " + name, wrongField(some(name)), api.ErrName})
-		if name != "" {
-			l = append(l, wrongClass{"parent " + name, child("a", 1, name, 1), api.ErrName}, wrongClass{"was " + name, wrongField(was(some("b"), name)), api.ErrName})
-		}
-	}
-	for _, x := range sample.WrongTypes() {
-		l = append(l, wrongClass{"type " + x.Name, wrongField(field("b", x.T)), api.ErrType})
-	}
-	for _, x := range []struct {
-		t   api.Term
-		why api.Errno
-	}{
-		{api.Term{}, api.ErrKind}, {api.Term{Kind: api.KNothing}, api.ErrNil}, {api.Term{Kind: 99}, api.ErrKind}, {api.Term{Kind: api.KRecord, Version: 1}, api.ErrName}, {api.Term{Kind: api.KRecord, Class: "a"}, api.ErrArg}, {api.Term{Kind: api.KText, Text: strings.Repeat("x", api.MaxText+1)}, api.ErrLong}, {api.Term{Kind: api.KList, List: []api.Term{{Kind: api.KNil}, {Kind: api.KNothing}, {}}}, api.ErrNil}, {api.Term{Kind: api.KDict, Fields: []api.Entry{{Name: "A"}}}, api.ErrName},
-	} {
-		l = append(l, wrongClass{"default " + plain(x.t), wrongField(api.FieldOf{Name: "b", Type: sample.AnyValue(), Has: true, Default: x.t}), x.why})
-	}
-	return l
-}
-
 // P6.2: Print: the error of the first class that can't be, and no text.
 func TestPrintWrong(t *testing.T) {
 	good := class("a", 1, some("a"))
-	for _, x := range wrongClasses() {
-		for _, l := range [][]api.Class{{x.c}, {good, x.c}, {x.c, good}, {good, x.c, api.Class{}}, {good, x.c, class("a", 0)}} {
-			if s, e := schema.Print(l); s != "" || e != x.why {
-				t.Errorf("%s: %s, %d, want %d", x.name, short(s), e, x.why)
+	for _, x := range sample.WrongClasses() {
+		for _, l := range [][]api.Class{{x.C}, {good, x.C}, {x.C, good}, {good, x.C, api.Class{}}, {good, x.C, class("a", 0)}} {
+			if s, e := schema.Print(l); s != "" || e != x.Why {
+				t.Errorf("%s: %s, %d, want %d", x.Name, short(s), e, x.Why)
 			}
 		}
 	}

@@ -16,12 +16,12 @@ func TestDefineWrongClasses(t *testing.T) {
 	var empty schema.Schema
 	s := defined(t, class("a", 1, some("x")), class("b", 1))
 	before := told(s, "a", "b")
-	for _, x := range wrongClasses() {
-		if e := s.Define(x.c); e != x.why {
-			t.Errorf("%s: %d, want %d", x.name, e, x.why)
+	for _, x := range sample.WrongClasses() {
+		if e := s.Define(x.C); e != x.Why {
+			t.Errorf("%s: %d, want %d", x.Name, e, x.Why)
 		}
-		if e := empty.Define(x.c); e != x.why {
-			t.Errorf("%s, the first one: %d, want %d", x.name, e, x.why)
+		if e := empty.Define(x.C); e != x.Why {
+			t.Errorf("%s, the first one: %d, want %d", x.Name, e, x.Why)
 		}
 	}
 	if told(s, "a", "b") != before || len(empty.Names()) != 0 {

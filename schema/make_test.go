@@ -66,48 +66,12 @@ func mustRead(t *testing.T, s string, want ...api.Class) {
 	}
 }
 
-// class is a class that has no parent.
-func class(name string, version int, fields ...api.FieldOf) api.Class {
-	return api.Class{Name: name, Version: version, Fields: fields}
-}
-
-// child is a class that has one.
-func child(name string, version int, parent string, parentVersion int, fields ...api.FieldOf) api.Class {
-	return api.Class{Name: name, Version: version, Parent: parent, ParentVersion: parentVersion, Fields: fields}
-}
-
-// abstract is the same class, without records of its own.
-func abstract(c api.Class) api.Class {
-	c.Abstract = true
-	return c
-}
-
-// field is a field without a default.
-func field(name string, t api.Type) api.FieldOf { return api.FieldOf{Name: name, Type: t} }
-
-// with is the same field with a default, which can be.
-func with(f api.FieldOf, v any) api.FieldOf {
-	f.Has, f.Default = true, sample.Term(v)
-	return f
-}
-
-// was is the same field, which had another name.
-func was(f api.FieldOf, name string) api.FieldOf {
-	f.Was = name
-	return f
-}
-
-// some is a field of any values, with nil as its default.
-func some(name string) api.FieldOf { return with(field(name, sample.AnyValue()), nil) }
-
-// someFields is n fields whose names rise, from the one of that number on.
-func someFields(first, n int) []api.FieldOf {
-	l := make([]api.FieldOf, n)
-	for i := range l {
-		l[i] = some(fmt.Sprintf("f%06d", first+i))
-	}
-	return l
-}
+// Classes and their fields, by short names.
+var (
+	class, child, abstract = sample.Class, sample.Child, sample.Abstract
+	field, with, was       = sample.FieldOf, sample.With, sample.Was
+	some, someFields       = sample.Some, sample.SomeFields
+)
 
 // read is the classes of a text, which must be one.
 func read(t *testing.T, s string) []api.Class {

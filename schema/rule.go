@@ -5,52 +5,13 @@ import (
 	"strings"
 
 	"tenon/api"
-	"tenon/names"
+	"tenon/classes"
 	"tenon/types"
-	"tenon/value"
 )
-
-// classRule tells whether a class can be, whatever else is there.
-func classRule(c api.Class) api.Errno {
-	switch {
-	case !names.Is(c.Name):
-		return api.ErrName
-	case !isVersion(c.Version):
-		return api.ErrArg
-	case !isNameOrNone(c.Parent):
-		return api.ErrName
-	case c.Parent == "" && c.ParentVersion != 0, c.Parent != "" && !isVersion(c.ParentVersion):
-		return api.ErrArg
-	case len(c.Fields) > api.MaxItems:
-		return api.ErrLong
-	}
-	ahead := "" // every name is above it
-	for _, f := range c.Fields {
-		if e := fieldRule(f, ahead); e != api.OK {
-			return e
-		}
-		ahead = f.Name
-	}
-	return api.OK
-}
-
-// fieldRule is of a field that comes behind one of the name ahead.
-func fieldRule(f api.FieldOf, ahead string) api.Errno {
-	switch {
-	case !names.Is(f.Name) || f.Name <= ahead || !isNameOrNone(f.Was):
-		return api.ErrName
-	case !types.Can(f.Type):
-		return api.ErrType
-	case !f.Has:
-		return api.OK
-	}
-	_, e := value.Of(f.Default)
-	return e
-}
 
 // defineRule tells whether a class can come to those that are there.
 func (s *Schema) defineRule(c api.Class) api.Errno {
-	if e := classRule(c); e != api.OK {
+	if e := classes.Rule(c); e != api.OK {
 		return e
 	}
 	parents := s.line(c.Parent, c.ParentVersion)
@@ -87,10 +48,6 @@ func fieldsNumber(line []api.Class) int {
 	}
 	return n
 }
-
-func isVersion(n int) bool { return 1 <= n && n <= api.MaxVersion }
-
-func isNameOrNone(s string) bool { return s == "" || names.Is(s) }
 
 // copyClass is of a class that can be: the same in memory of its own, without what plays no part.
 func copyClass(c api.Class) api.Class {

@@ -1,4 +1,4 @@
-// Package types holds the rule of which types can be (chapter 7), so that all layers go by one, and copies types and terms.
+// Package types holds the rule of which types can be (chapter 7), so that all layers go by one, tells which are the same, and copies types and terms.
 package types
 
 import (
@@ -14,6 +14,14 @@ import (
 func Can(t api.Type) bool {
 	var w walk
 	return w.fits(t, 1) && termsFit(t)
+}
+
+// Same is of types that can be: whether all that their kinds use is the same.
+func Same(a, b api.Type) bool {
+	if a.Kind != b.Kind || !ownSame(a, b) {
+		return false
+	}
+	return slices.EqualFunc(partsOf(a), partsOf(b), Same)
 }
 
 // Copy is of a type that can be: the same in memory of its own, all that its kind does not use being zero.
@@ -43,6 +51,23 @@ func CopyTerm(t api.Term) api.Term {
 	v, _ := value.Of(t)
 	c, _ := value.Plain(v)
 	return c
+}
+
+// ownSame is of what two types of one kind use, but for their parts.
+func ownSame(a, b api.Type) bool {
+	switch a.Kind {
+	case api.TKind:
+		return a.Of == b.Of
+	case api.TOnly:
+		v, _ := value.Of(a.Only)
+		w, _ := value.Of(b.Only)
+		return value.Same(v, w)
+	case api.TDict:
+		return a.Open == b.Open && slices.Equal(a.Names, b.Names) && slices.Equal(a.Lacks, b.Lacks)
+	case api.TRecord:
+		return a.Class == b.Class
+	}
+	return true
 }
 
 // walk goes through the types of which a type is made. It gives up at the first one that is wrong or one too many; so its way is bounded by the limits even where a type holds itself.

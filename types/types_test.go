@@ -52,6 +52,25 @@ func TestClutter(t *testing.T) {
 	}
 }
 
+// Two types are the same just if they are alike in all that their kinds use.
+func TestSame(t *testing.T) {
+	all := append(sample.Types(),
+		sample.DictOf("a?", sample.OfKind(api.KInt)), sample.OpenDict("a", sample.OfKind(api.KInt)), sample.DictOf("b", sample.OfKind(api.KInt)), sample.DictOf("a", sample.OfKind(api.KText)), sample.DictOf("a", sample.OfKind(api.KInt), "b", sample.OfKind(api.KInt)),
+		sample.Union(sample.OfKind(api.KText), sample.OfKind(api.KInt)), sample.Union(sample.OfKind(api.KInt), sample.OfKind(api.KText)), sample.Union(sample.OfKind(api.KInt), sample.OfKind(api.KInt), sample.OfKind(api.KInt)), sample.Union(sample.OfKind(api.KInt), sample.Union(sample.OfKind(api.KNil), sample.OfKind(api.KText))),
+		sample.ListsOf(api.MaxDepth, sample.NoValue()), sample.UnionsOf(api.MaxNodes-1), sample.ManyFields(api.MaxItems-1), sample.OfClass("b"),
+	)
+	for i, a := range all {
+		for j, b := range all {
+			if same := types.Same(a, b); same != (i == j) {
+				t.Errorf("%.100s and %.100s: %v", plain(a), plain(b), same)
+			}
+		}
+		if c := sample.Cluttered(a); !types.Same(a, c) || !types.Same(c, a) || !types.Same(c, types.Copy(c)) {
+			t.Errorf("%.100s is not the same with clutter", plain(a))
+		}
+	}
+}
+
 func TestCopyTerm(t *testing.T) {
 	for i, v := range sample.Rich() {
 		want := sample.Term(v)
