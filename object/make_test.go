@@ -33,29 +33,9 @@ func thing(t *testing.T, id api.Ref, fields ...api.Field) *object.Thing {
 
 // sharp's methods use it, so that they panic if it is nil; blunt's do not.
 type (
-	sharp struct{ n int }
-	blunt struct{}
+	sharp = sample.Sharp
+	blunt = sample.Blunt
 )
-
-func (s *sharp) ID() api.Ref                 { return api.Ref(s.n) }
-func (s *sharp) Get(name string) (any, bool) { return int64(s.n), true }
-func (s *sharp) Class() string               { return "c" + strings.Repeat("c", s.n) }
-func (s *sharp) Version() int                { return s.n }
-func (s *sharp) Keys() []any                 { return []any{int64(s.n)} }
-func (s *sharp) Owner() string               { return "o" + strings.Repeat("o", s.n) }
-func (s *sharp) Give(to string) api.Errno    { s.n = len(to); return api.OK }
-func (s *sharp) Loaded() bool                { return s.n > 0 }
-func (s *sharp) Load() api.Errno             { s.n++; return api.OK }
-
-func (b *blunt) ID() api.Ref                 { return 9 }
-func (b *blunt) Get(name string) (any, bool) { return name, true }
-func (b *blunt) Class() string               { return "blunt" }
-func (b *blunt) Version() int                { return 2 }
-func (b *blunt) Keys() []any                 { return nil }
-func (b *blunt) Owner() string               { return "nobody" }
-func (b *blunt) Give(to string) api.Errno    { return api.ErrFull }
-func (b *blunt) Loaded() bool                { return false }
-func (b *blunt) Load() api.Errno             { return api.OK }
 
 // told is a value as it is read.
 func told(v any) string {
