@@ -8,7 +8,6 @@ import (
 	"tenon/api"
 	"tenon/heap"
 	"tenon/sample"
-	"tenon/text"
 	"tenon/value"
 )
 
@@ -41,7 +40,7 @@ func add(t *testing.T, h *heap.Heap, records ...*api.Record) {
 	for _, r := range records {
 		next := h.Image().Next
 		if id, e := h.Add(r); id != next || e != api.OK {
-			t.Fatalf("Add of %s: %d, %d, want %d", told(r), id, e, next)
+			t.Fatalf("Add of %s: %d, %d, want %d", sample.Told(r), id, e, next)
 		}
 	}
 }
@@ -52,21 +51,6 @@ func ring(t *testing.T) *heap.Heap {
 	return load(t, api.Image{Room: 5, Next: 5, Records: append(sample.StoredNaming(3), api.Stored{ID: 4, Record: sample.Naming(4, 2)})})
 }
 
-// told is a value as it is read.
-func told(v any) string {
-	if r, ok := v.(*api.Record); ok && r == nil {
-		return "none"
-	}
-	s, e := text.Print(v)
-	if e != api.OK {
-		return fmt.Sprint("error ", int(e))
-	}
-	if len(s) > 200 {
-		s = s[:100] + " .. " + s[len(s)-100:]
-	}
-	return s
-}
-
 // shown is an image as it is read.
 func shown(x api.Image) string {
 	s := fmt.Sprint("room ", x.Room, ", next ", x.Next)
@@ -74,7 +58,7 @@ func shown(x api.Image) string {
 		if len(s) > 1000 {
 			return s + " .."
 		}
-		s += fmt.Sprint(", ", r.ID, ": ", told(r.Record))
+		s += fmt.Sprint(", ", r.ID, ": ", sample.Told(r.Record))
 	}
 	for _, r := range x.Roots {
 		if len(s) > 1200 {
@@ -113,7 +97,7 @@ func mustStay(t *testing.T, name any, h *heap.Heap, calls func()) {
 func mustGet(t *testing.T, h *heap.Heap, id api.Ref, want *api.Record) {
 	t.Helper()
 	if r, e := h.Get(id); e != api.OK || !value.Same(r, want) {
-		t.Errorf("Get(%d): %s, %d, want %s", id, told(r), e, told(want))
+		t.Errorf("Get(%d): %s, %d, want %s", id, sample.Told(r), e, sample.Told(want))
 	}
 }
 
@@ -145,7 +129,7 @@ func mustBeGone(t *testing.T, h *heap.Heap, id api.Ref) {
 	m, g := h.Namers(id)
 	o, i := h.Object(id)
 	if r != nil || len(l)+len(m) > 0 || o != nil || e != api.ErrIdentity || f != e || g != e || i != e {
-		t.Error(id, told(r), l, m, o, e, f, g, i)
+		t.Error(id, sample.Told(r), l, m, o, e, f, g, i)
 	}
 	mustStay(t, id, h, func() {
 		must(t, "Put", h.Put(id, sample.Naming()), api.ErrIdentity)

@@ -29,16 +29,16 @@ func mustTell(t *testing.T, o api.Object, id api.Ref, r *api.Record) {
 	}
 	v, ok := o.(api.Versioned)
 	if !ok || o.ID() != id || v.Class() != r.Class || v.Version() != r.Version {
-		t.Errorf("%d, %v, want %d, %s", o.ID(), ok, id, told(r))
+		t.Errorf("%d, %v, want %d, %s", o.ID(), ok, id, sample.Told(r))
 	}
 	for _, f := range r.Fields {
 		if got, has := o.Get(f.Name); !has || !value.Same(got, f.Value) {
-			t.Errorf("%d, %q: %s, %v, want %s", id, f.Name, told(got), has, told(f.Value))
+			t.Errorf("%d, %q: %s, %v, want %s", id, f.Name, sample.Told(got), has, sample.Told(f.Value))
 		}
 	}
 	for _, name := range append(sample.BadNames(), "none", "zzz") {
 		if got, has := o.Get(name); got != nil || has {
-			t.Errorf("%d, %q: %s", id, name, told(got))
+			t.Errorf("%d, %q: %s", id, name, sample.Told(got))
 		}
 	}
 }
@@ -53,7 +53,7 @@ func TestObject(t *testing.T) {
 			continue
 		}
 		r := sample.Record("p", 7, sample.Field("a", v), sample.Field("b", api.List{v}), sample.Field("c", true))
-		must(t, told(v), h.Put(4, r), api.OK)
+		must(t, sample.Told(v), h.Put(4, r), api.OK)
 		mustTell(t, o, 4, r)
 		mustTell(t, thing(t, h, 4), 4, r)
 	}
@@ -116,7 +116,7 @@ func TestAsked(t *testing.T) {
 	add(t, h, want)
 	o := thing(t, h, 1)
 	if r, e := object.Record(o, []string{"c", "b", "a"}); e != api.OK || !value.Same(r, want) {
-		t.Error(told(r), e)
+		t.Error(sample.Told(r), e)
 	}
 	if one, e := object.One(o, thing(t, h, 1)); !one || e != api.OK {
 		t.Error(one, e)
@@ -125,7 +125,7 @@ func TestAsked(t *testing.T) {
 	must(t, "Load", object.Load(o), api.OK)
 	must(t, "Drop", h.Drop(1), api.OK)
 	if r, e := object.Record(o, []string{"a"}); r != nil || e != api.ErrName {
-		t.Error(told(r), e)
+		t.Error(sample.Told(r), e)
 	}
 	if v, has, e := object.Ask(o, "a"); v != nil || has || e != api.OK {
 		t.Error(v, has, e)

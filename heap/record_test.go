@@ -29,7 +29,7 @@ func TestAdd(t *testing.T) {
 	}
 	for i, r := range records {
 		if id, e := h.Add(r); id != api.Ref(i+3) || e != api.OK {
-			t.Fatal(i, told(r), id, e)
+			t.Fatal(i, sample.Told(r), id, e)
 		}
 	}
 	for i, r := range records {
@@ -190,9 +190,9 @@ func TestPut(t *testing.T) {
 	h := load(t, api.Image{Room: 4, Next: 5, Records: ring(t).Image().Records, Roots: []api.Root{{Name: "top", ID: 2}}})
 	want := h.Image()
 	for _, r := range []*api.Record{sample.Naming(), sample.Naming(2), sample.Naming(4, 4, 0, 1), sample.Record("other", 9, sample.Field("x", "y")), sample.Record("a", 1), sample.Naming(3)} {
-		must(t, told(r), h.Put(2, r), api.OK)
+		must(t, sample.Told(r), h.Put(2, r), api.OK)
 		want.Records[1].Record = r
-		mustImage(t, told(r), h, want)
+		mustImage(t, sample.Told(r), h, want)
 		mustGet(t, h, 2, r)
 	}
 	mustName(t, h, 2, 3)

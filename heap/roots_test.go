@@ -117,7 +117,7 @@ func TestNamesAndNamers(t *testing.T) {
 		{sample.Record("a", 1, sample.Field("a", api.Ref(7)), sample.Field("b", sample.Record("in", 1, sample.Field("a", api.Ref(5)), sample.Field("b", sample.Naming(1, 7)))), sample.Field("c", api.Ref(2))), []api.Ref{1, 2, 5, 7}},
 		{sample.Naming(9, 8, 7, 6, 5, 4, 3, 2, 1), []api.Ref{1, 2, 3, 4, 5, 6, 7, 8, 9}},
 	} {
-		must(t, told(x.r), h.Put(3, x.r), api.OK)
+		must(t, sample.Told(x.r), h.Put(3, x.r), api.OK)
 		mustName(t, h, 3, x.want...)
 		for id := api.Ref(1); id <= 9; id++ {
 			if slices.Contains(x.want, id) {

@@ -138,7 +138,7 @@ func TestToldStays(t *testing.T) {
 	must(t, "Remove", h.Remove([]api.Ref{3, 2, 1}), api.OK)
 	add(t, h, sample.Naming())
 	if !sample.SameImages(x, roomyImage()) || !value.Same(r, roomy(2)) || len(roots) != 2 {
-		t.Error(shown(x), told(r), roots)
+		t.Error(shown(x), sample.Told(r), roots)
 	}
 	mustRefs(t, "IDs", ids, api.OK, 1, 2, 3)
 	mustRefs(t, "Names", names, api.OK, 2)

@@ -24,14 +24,14 @@ func TestInAndOut(t *testing.T) {
 		}
 		id, e := h.Add(r)
 		if e != api.OK {
-			t.Fatal(told(v), e)
+			t.Fatal(sample.Told(v), e)
 		}
 		got, _ := h.Get(id)
 		asked, _ := thing(t, h, id).Get("a")
 		a, _ := wire.Encode(r)
 		b, _ := wire.Encode(got)
-		if o, e := value.Order(asked, v); o != 0 || e != api.OK || string(a) != string(b) || told(got) != told(r) {
-			t.Error(told(v), o, e)
+		if o, e := value.Order(asked, v); o != 0 || e != api.OK || string(a) != string(b) || sample.Told(got) != sample.Told(r) {
+			t.Error(sample.Told(v), o, e)
 		}
 	}
 }
@@ -89,8 +89,8 @@ func TestStoredIsConverted(t *testing.T) {
 	stored, _ := h.Get(1)
 	seen, _ := object.Record(thing(t, h, 1), []string{"name"})
 	for _, old := range []*api.Record{stored, seen} {
-		if now, e := r.Convert(old, 3); e != api.OK || told(now) != `person/3{age: 0, called: "ann"}` {
-			t.Error(told(now), e)
+		if now, e := r.Convert(old, 3); e != api.OK || sample.Told(now) != `person/3{age: 0, called: "ann"}` {
+			t.Error(sample.Told(now), e)
 		}
 	}
 }

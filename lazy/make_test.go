@@ -8,7 +8,6 @@ import (
 	"tenon/api"
 	"tenon/lazy"
 	"tenon/sample"
-	"tenon/text"
 	"tenon/value"
 )
 
@@ -89,21 +88,6 @@ func use(t *testing.T, p *lazy.Pool, ids ...api.Ref) {
 	}
 }
 
-// told is a value as it is read.
-func told(v any) string {
-	if r, ok := v.(*api.Record); ok && r == nil {
-		return "none"
-	}
-	s, e := text.Print(v)
-	if e != api.OK {
-		return fmt.Sprint("error ", int(e))
-	}
-	if len(s) > 200 {
-		s = s[:100] + " .. " + s[len(s)-100:]
-	}
-	return s
-}
-
 func must(t *testing.T, name any, got, want api.Errno) {
 	t.Helper()
 	if got != want {
@@ -114,7 +98,7 @@ func must(t *testing.T, name any, got, want api.Errno) {
 func mustGet(t *testing.T, g *lazy.Ghost, name string, want any, wantHas bool) {
 	t.Helper()
 	if v, has := g.Get(name); !value.Same(v, want) || has != wantHas {
-		t.Errorf("Get(%q): %s, %v, want %s, %v", name, told(v), has, told(want), wantHas)
+		t.Errorf("Get(%q): %s, %v, want %s, %v", name, sample.Told(v), has, sample.Told(want), wantHas)
 	}
 }
 
@@ -166,7 +150,7 @@ type question struct {
 
 func questions() []question {
 	get := func(name string) func(g *lazy.Ghost) string {
-		return func(g *lazy.Ghost) string { v, has := g.Get(name); return fmt.Sprint(told(v), has) }
+		return func(g *lazy.Ghost) string { v, has := g.Get(name); return fmt.Sprint(sample.Told(v), has) }
 	}
 	return []question{
 		{"Get", get("a"), "nilfalse"}, {"Get of no field", get("none"), "nilfalse"}, {"Get of no name", get(""), "nilfalse"},

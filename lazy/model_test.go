@@ -169,7 +169,7 @@ func (w *world) question() {
 	at := slices.IndexFunc(r.Fields, func(f api.Field) bool { return f.Name == name })
 	switch {
 	case which == 0 && class != r.Class, which == 1 && version != r.Version, which == 2 && has != (at >= 0), has && !value.Same(v, r.Fields[at].Value), !has && v != nil:
-		w.t.Errorf("%d: %q, %d, %s, %v of %s", id, class, version, told(v), has, told(r))
+		w.t.Errorf("%d: %q, %d, %s, %v of %s", id, class, version, sample.Told(v), has, sample.Told(r))
 	}
 	w.answers = append(w.answers, v)
 }

@@ -115,7 +115,7 @@ func TestGhostIsTheRecord(t *testing.T) {
 			s := &shelf{answers: func(api.Ref) (*api.Record, api.Errno) { return want, api.OK }}
 			g := m.makes(t, 7, s.fetch)
 			if got, e := object.Record(g, names); e != api.OK || !value.Same(got, want) {
-				t.Errorf("%s, %d, want %s", told(got), e, told(want))
+				t.Errorf("%s, %d, want %s", sample.Told(got), e, sample.Told(want))
 			}
 			if class, version, is, e := object.VersionOf(g); class != "p" || version != want.Version || !is || e != api.OK {
 				t.Error(class, version, is, e)
@@ -138,7 +138,7 @@ func TestObjectOfFails(t *testing.T) {
 				t.Error(f.name, class, version, is, e)
 			}
 			if r, e := object.Record(g, nil); r != nil || e != api.ErrName {
-				t.Error(f.name, told(r), e)
+				t.Error(f.name, sample.Told(r), e)
 			}
 		}
 	}
@@ -167,8 +167,8 @@ func TestWrapped(t *testing.T) {
 		calls := ""
 		g := m.makes(t, 7, (&shelf{}).fetch)
 		x, e := wrap.Count(g, func(method string) { calls += " " + method })
-		if r, f := object.Record(x, []string{"a", "d"}); e != api.OK || f != api.OK || told(r) != "c7/8{a: @7, d: nil}" {
-			t.Error(told(r), e, f)
+		if r, f := object.Record(x, []string{"a", "d"}); e != api.OK || f != api.OK || sample.Told(r) != "c7/8{a: @7, d: nil}" {
+			t.Error(sample.Told(r), e, f)
 		}
 		if calls != " Class Version Loaded Get Loaded Get" { // Class has loaded it
 			t.Error(calls)
@@ -198,8 +198,8 @@ func TestFetchedIsConverted(t *testing.T) {
 		if e != api.OK {
 			t.Fatal(e)
 		}
-		if now, e := r.Convert(old, 3); e != api.OK || told(now) != fmt.Sprintf("person/3{age: 0, called: %q}", fmt.Sprint("n", id)) {
-			t.Error(told(now), e)
+		if now, e := r.Convert(old, 3); e != api.OK || sample.Told(now) != fmt.Sprintf("person/3{age: 0, called: %q}", fmt.Sprint("n", id)) {
+			t.Error(sample.Told(now), e)
 		}
 	}
 }

@@ -1,7 +1,6 @@
 package object_test
 
 import (
-	"fmt"
 	"slices"
 	"strings"
 	"testing"
@@ -9,7 +8,6 @@ import (
 	"tenon/api"
 	"tenon/object"
 	"tenon/sample"
-	"tenon/text"
 	"tenon/value"
 )
 
@@ -26,7 +24,7 @@ func thing(t *testing.T, id api.Ref, fields ...api.Field) *object.Thing {
 	t.Helper()
 	x, e := object.New(id, fields)
 	if x == nil || e != api.OK {
-		t.Fatal(id, told(api.Dict(fields)), e)
+		t.Fatal(id, sample.Told(api.Dict(fields)), e)
 	}
 	return x
 }
@@ -36,21 +34,6 @@ type (
 	sharp = sample.Sharp
 	blunt = sample.Blunt
 )
-
-// told is a value as it is read.
-func told(v any) string {
-	if r, ok := v.(*api.Record); ok && r == nil {
-		return "none"
-	}
-	s, e := text.Print(v)
-	if e != api.OK {
-		return fmt.Sprint("error ", int(e))
-	}
-	if len(s) > 200 {
-		s = s[:100] + " .. " + s[len(s)-100:]
-	}
-	return s
-}
 
 func mustVersion(t *testing.T, o api.Object, class string, version int, is bool, want api.Errno) {
 	t.Helper()
@@ -63,7 +46,7 @@ func mustKeys(t *testing.T, o api.Object, keys []any, is bool, want api.Errno) {
 	t.Helper()
 	l, ok, e := object.KeysOf(o)
 	if !slices.EqualFunc(l, keys, value.Same) || ok != is || e != want {
-		t.Errorf("KeysOf(%T): %s, %v, %d; want %s, %v, %d", o, told(api.List(l)), ok, e, told(api.List(keys)), is, want)
+		t.Errorf("KeysOf(%T): %s, %v, %d; want %s, %v, %d", o, sample.Told(api.List(l)), ok, e, sample.Told(api.List(keys)), is, want)
 	}
 	if want != api.OK && l != nil {
 		t.Errorf("KeysOf(%T): keys beside an error", o)
@@ -94,22 +77,22 @@ func mustLoad(t *testing.T, o api.Object, want api.Errno) {
 func mustAsk(t *testing.T, o api.Object, name string, v any, has bool, want api.Errno) {
 	t.Helper()
 	if w, ok, e := object.Ask(o, name); !value.Same(w, v) || ok != has || e != want {
-		t.Errorf("Ask(%T, %q): %s, %v, %d; want %s, %v, %d", o, name, told(w), ok, e, told(v), has, want)
+		t.Errorf("Ask(%T, %q): %s, %v, %d; want %s, %v, %d", o, name, sample.Told(w), ok, e, sample.Told(v), has, want)
 	}
 }
 
 // mustRecord holds what an object has under names against the text of what is wanted.
 func mustRecord(t *testing.T, o api.Object, names []string, want string) {
 	t.Helper()
-	if r, e := object.Record(o, names); told(r) != want || e != api.OK {
-		t.Errorf("Record(%T, %q): %s, %d; want %s", o, names, told(r), e, want)
+	if r, e := object.Record(o, names); sample.Told(r) != want || e != api.OK {
+		t.Errorf("Record(%T, %q): %s, %d; want %s", o, names, sample.Told(r), e, want)
 	}
 }
 
 func mustNoRecord(t *testing.T, o api.Object, names []string, want api.Errno) {
 	t.Helper()
 	if r, e := object.Record(o, names); r != nil || e != want {
-		t.Errorf("Record(%T, %.100q): %s, %d; want %d", o, names, told(r), e, want)
+		t.Errorf("Record(%T, %.100q): %s, %d; want %d", o, names, sample.Told(r), e, want)
 	}
 }
 

@@ -162,7 +162,7 @@ func TestModel(t *testing.T) {
 				want, e := m.record(list)
 				x, f := object.Record(o, list)
 				if e != f || (x == nil) != (want == nil) || x != nil && !value.Same(x, want) {
-					t.Errorf("%d: Record(%q): %s, %d; want %s, %d", round, list, told(x), f, told(want), e)
+					t.Errorf("%d: Record(%q): %s, %d; want %s, %d", round, list, sample.Told(x), f, sample.Told(want), e)
 				}
 			}
 			mustLog(t, &s, m.Log...)

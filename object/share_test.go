@@ -37,7 +37,7 @@ func TestThingApart(t *testing.T) {
 		b, _ := z.Get("b")
 		asked, _, _ := object.Ask(z, "a")
 		if !value.Same(a, sample.Twofold()) || !value.Same(b, sample.Twofold()) {
-			t.Fatal(told(a), told(b))
+			t.Fatal(sample.Told(a), sample.Told(b))
 		}
 		if at, ok := sample.Apart(a, again, b, asked); !ok {
 			t.Error(at, "shares memory")
@@ -61,7 +61,7 @@ func TestAnswersApart(t *testing.T) {
 		r, _ := object.Record(o, []string{"b", "a"})
 		r2, e := object.Record(o, []string{"b", "a"})
 		if e != api.OK || !value.Same(r, sample.Record("p", 3, roomy()...)) || !value.Same(a, sample.Twofold()) || !kept(s.Fields) {
-			t.Fatal(told(r), told(a), e)
+			t.Fatal(sample.Told(r), sample.Told(a), e)
 		}
 		if at, ok := sample.Apart(a, again, r, r2, s.Fields); !ok {
 			t.Error(at, "shares memory")
@@ -86,7 +86,7 @@ func TestAnswersApart(t *testing.T) {
 		}
 		sample.Spoil(s.Fields)
 		if !value.Same(r, sample.Record("p", 3, roomy()...)) || !value.Same(a, sample.Twofold()) {
-			t.Error("an answer hangs on the object:", told(r), told(a))
+			t.Error("an answer hangs on the object:", sample.Told(r), sample.Told(a))
 		}
 	}
 }
@@ -100,7 +100,7 @@ func TestKeysApart(t *testing.T) {
 		one, _, _ := object.KeysOf(o)
 		other, _, e := object.KeysOf(o)
 		if e != api.OK || !slices.EqualFunc(one, s.Keys, value.Same) || !sample.RoomKept(v) || s.Keys[:4][2] != "room" || s.Keys[:4][3] != "room" {
-			t.Fatal(told(api.List(one)), e)
+			t.Fatal(sample.Told(api.List(one)), e)
 		}
 		if at, ok := sample.Apart(one[0], one[1], other[0], other[1], v); !ok {
 			t.Error(at, "shares memory")

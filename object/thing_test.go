@@ -21,12 +21,12 @@ func TestThing(t *testing.T) {
 		x := thing(t, 3, fields...)
 		for _, f := range fields {
 			if v, ok := x.Get(f.Name); !ok || !value.Same(v, f.Value) {
-				t.Errorf("%s: %s, %v", f.Name, told(v), ok)
+				t.Errorf("%s: %s, %v", f.Name, sample.Told(v), ok)
 			}
 		}
 		for _, name := range append(sample.BadNames(), "aa", "a00", "c", "y", "zz", "f", "f10000a") {
 			if v, ok := x.Get(name); ok || v != nil {
-				t.Errorf("%q: %s, %v", name, told(v), ok)
+				t.Errorf("%q: %s, %v", name, sample.Told(v), ok)
 			}
 		}
 	}
@@ -42,14 +42,14 @@ func TestThingOfValues(t *testing.T) {
 		_, want := value.Check(fields)
 		x, e := object.New(2, fields)
 		if e != want || (x == nil) != (e != api.OK) {
-			t.Errorf("%s: %d, want %d", told(v), e, want)
+			t.Errorf("%s: %d, want %d", sample.Told(v), e, want)
 			continue
 		}
 		if e != api.OK {
 			continue
 		}
 		if w, ok := x.Get("a"); !ok || !value.Same(w, v) {
-			t.Errorf("%s: %s, %v", told(v), told(w), ok)
+			t.Errorf("%s: %s, %v", sample.Told(v), sample.Told(w), ok)
 		}
 		mustAsk(t, x, "a", v, true, api.OK)
 	}

@@ -45,8 +45,8 @@ func TestRecordIsConverted(t *testing.T) {
 			t.Error(name, e)
 		}
 		now, e := r.Convert(old, 2)
-		if told(now) != `person/2{age: 30, city: "Ulm", name: "Ada"}` || e != api.OK {
-			t.Error(told(now), e)
+		if sample.Told(now) != `person/2{age: 30, city: "Ulm", name: "Ada"}` || e != api.OK {
+			t.Error(sample.Told(now), e)
 		}
 	}
 }
@@ -63,7 +63,7 @@ func TestAskedAsWritten(t *testing.T) {
 		b, _ := wire.Encode(v)
 		for _, x := range []any{w, keys[0]} {
 			if c, e := wire.Encode(x); string(b) != string(c) || e != api.OK {
-				t.Errorf("%s: %s", told(v), told(x))
+				t.Errorf("%s: %s", sample.Told(v), sample.Told(x))
 			}
 		}
 	}
