@@ -4,6 +4,7 @@ import (
 	"strings"
 
 	"tenon/api"
+	"tenon/kinds"
 	"tenon/names"
 	"tenon/scan"
 	"tenon/text"
@@ -77,10 +78,8 @@ func (r *reader) wordType() api.Type {
 	case wordOf:
 		return api.Type{Kind: api.TRecord, Class: r.name()}
 	}
-	for kind, w := range kindWords {
-		if w == word {
-			return api.Type{Kind: api.TKind, Of: kind}
-		}
+	if kind := kinds.Of(word); kind > 0 {
+		return api.Type{Kind: api.TKind, Of: kind}
 	}
 	panic(scan.Fault{At: start, Why: api.ErrForm})
 }

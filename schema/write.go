@@ -5,6 +5,7 @@ import (
 	"strings"
 
 	"tenon/api"
+	"tenon/kinds"
 	"tenon/text"
 	"tenon/value"
 )
@@ -20,20 +21,6 @@ const (
 	wordWas      = "was"
 	dots         = "..."
 )
-
-// kindWords is under each kind its word.
-var kindWords = [...]string{
-	api.KNil:    "nil",
-	api.KBool:   "bool",
-	api.KInt:    "int",
-	api.KFloat:  "float",
-	api.KText:   "text",
-	api.KBytes:  "bytes",
-	api.KRef:    "ref",
-	api.KList:   "list",
-	api.KDict:   "dict",
-	api.KRecord: "record",
-}
 
 // writer gathers the texts of types and classes that can be.
 type writer struct{ strings.Builder }
@@ -51,7 +38,7 @@ func (w *writer) typeText(t api.Type) {
 	case api.TNone:
 		w.add(wordNone)
 	case api.TKind:
-		w.add(kindWords[t.Of])
+		w.add(kinds.Word(t.Of))
 	case api.TOnly:
 		w.add(wordIs, " ", termText(t.Only))
 	case api.TList:
