@@ -5,6 +5,7 @@ import (
 
 	"tenon/api"
 	"tenon/kinds"
+	"tenon/ops"
 	"tenon/value"
 )
 
@@ -18,13 +19,13 @@ func (w *walk) ask(n *node, self any) any {
 	}
 	w.asked++
 	switch {
-	case n.op == opValue:
+	case n.op == ops.Value:
 		return n.value
-	case n.op == opSelf:
+	case n.op == ops.Self:
 		return self
-	case n.op == opOr || n.op == opAnd:
+	case n.op == ops.Or || n.op == ops.And:
 		return w.either(n, self)
-	case n.op == opCall && asksEach(n.name):
+	case n.op == ops.Call && asksEach(n.name):
 		return w.each(n, self)
 	}
 	of := make([]any, len(n.parts))
@@ -35,7 +36,7 @@ func (w *walk) ask(n *node, self any) any {
 	if !can {
 		n.giveUp(api.ErrRun)
 	}
-	if n.op == opList || n.op == opPlus {
+	if n.op == ops.List || n.op == ops.Plus {
 		n.mustBe(answer)
 	}
 	return answer
@@ -44,7 +45,7 @@ func (w *walk) ask(n *node, self any) any {
 // either asks the right part only where the left one does not tell it all.
 func (w *walk) either(n *node, self any) any {
 	left := n.truth(w.ask(&n.parts[0], self))
-	if left == (n.op == opOr) {
+	if left == (n.op == ops.Or) {
 		return left
 	}
 	return n.truth(w.ask(&n.parts[1], self))
@@ -96,20 +97,20 @@ func (n *node) mustBe(answer any) {
 // answer is what a node makes of what its parts answer, if these have such an operation.
 func (n *node) answer(self any, of []any) (any, bool) {
 	switch n.op {
-	case opField:
+	case ops.Field:
 		return under(self, n.name)
-	case opList:
+	case ops.List:
 		return api.List(of), true
-	case opCall:
+	case ops.Call:
 		return called(n.name, of)
-	case opNot:
+	case ops.Not:
 		is, can := of[0].(bool)
 		return !is, can
-	case opNeg:
+	case ops.Neg:
 		return negative(of[0])
-	case opDot:
+	case ops.Dot:
 		return under(of[0], n.name)
-	case opIs:
+	case ops.Is:
 		return kinds.Word(value.Kind(of[0])) == n.name, true
 	}
 	return joined(n.op, of[0], of[1])
@@ -118,17 +119,17 @@ func (n *node) answer(self any, of []any) (any, bool) {
 // joined is of an Op that stands between its sides.
 func joined(op string, a, b any) (any, bool) {
 	switch op {
-	case opAt:
+	case ops.At:
 		return at(a, b)
-	case opEqual:
+	case ops.Equal:
 		return equal(a, b), true
-	case opUnequal:
+	case ops.Unequal:
 		return !equal(a, b), true
-	case opIn:
+	case ops.In:
 		return lies(a, b)
-	case opLess, opUpTo, opMore, opFrom:
+	case ops.Less, ops.UpTo, ops.More, ops.From:
 		return held(op, a, b)
-	case opPlus:
+	case ops.Plus:
 		return together(a, b)
 	}
 	return reckoned(op, a, b)

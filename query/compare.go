@@ -7,6 +7,7 @@ import (
 	"slices"
 
 	"tenon/api"
+	"tenon/ops"
 	"tenon/value"
 )
 
@@ -17,11 +18,11 @@ const apart = 2
 func held(sign string, a, b any) (bool, bool) {
 	n, can := standing(a, b)
 	switch sign {
-	case opLess:
+	case ops.Less:
 		return n == -1, can
-	case opUpTo:
+	case ops.UpTo:
 		return n == -1 || n == 0, can
-	case opMore:
+	case ops.More:
 		return n == 1, can
 	}
 	return n == 1 || n == 0, can

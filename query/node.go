@@ -5,6 +5,7 @@ import (
 
 	"tenon/api"
 	"tenon/names"
+	"tenon/ops"
 	"tenon/scan"
 	"tenon/value"
 )
@@ -36,7 +37,7 @@ func (m *maker) node(e api.Expr) (node, bool) {
 		return node{}, false
 	}
 	n := node{op: e.Op, at: e.At, name: e.Name}
-	if e.Op == opValue {
+	if e.Op == ops.Value {
 		v, can := constant(e.Value)
 		if !can {
 			return node{}, false
@@ -56,13 +57,13 @@ func (m *maker) node(e api.Expr) (node, bool) {
 // partsFit tells whether an expression's Op is one, and has as many Parts as it asks.
 func partsFit(e api.Expr) bool {
 	switch e.Op {
-	case opList:
+	case ops.List:
 		return true
-	case opValue, opSelf, opField:
+	case ops.Value, ops.Self, ops.Field:
 		return len(e.Parts) == 0
-	case opNot, opNeg, opIs, opDot:
+	case ops.Not, ops.Neg, ops.Is, ops.Dot:
 		return len(e.Parts) == 1
-	case opCall:
+	case ops.Call:
 		return len(e.Parts) == partsTaken(e.Name)
 	}
 	return level(e.Op) > 0 && len(e.Parts) == 2
@@ -70,13 +71,13 @@ func partsFit(e api.Expr) bool {
 
 func nameFits(e api.Expr) bool {
 	switch e.Op {
-	case opField:
+	case ops.Field:
 		return isField(e.Name)
-	case opDot:
+	case ops.Dot:
 		return names.Is(e.Name)
-	case opIs:
+	case ops.Is:
 		return isKind(e.Name)
-	case opCall:
+	case ops.Call:
 		return partsTaken(e.Name) > 0
 	}
 	return true
@@ -105,17 +106,17 @@ func constant(t api.Term) (any, bool) {
 func (n *node) own(show func(name string)) {
 	parts := n.parts
 	switch n.op {
-	case opField:
+	case ops.Field:
 		show(n.name)
-	case opDot:
-		if parts[0].op == opSelf {
+	case ops.Dot:
+		if parts[0].op == ops.Self {
 			show(n.name)
 		}
-	case opAt:
-		if name, is := parts[1].value.(string); is && names.Is(name) && parts[0].op == opSelf {
+	case ops.At:
+		if name, is := parts[1].value.(string); is && names.Is(name) && parts[0].op == ops.Self {
 			show(name)
 		}
-	case opCall:
+	case ops.Call:
 		if asksEach(n.name) {
 			parts = parts[:1]
 		}

@@ -6,6 +6,7 @@ import (
 
 	"tenon/api"
 	"tenon/kinds"
+	"tenon/ops"
 	"tenon/value"
 )
 
@@ -31,9 +32,9 @@ func called(function string, of []any) (any, bool) {
 	case callLast:
 		return nth(l, -1), true
 	case callLeast:
-		return leader(opLess, l)
+		return leader(ops.Less, l)
 	case callMost:
-		return leader(opMore, l)
+		return leader(ops.More, l)
 	}
 	return total(l)
 }
@@ -127,7 +128,7 @@ func leader(sign string, l api.List) (any, bool) {
 func total(l api.List) (any, bool) {
 	var sum any = int64(0)
 	for _, v := range l {
-		next, can := reckoned(opPlus, sum, v)
+		next, can := reckoned(ops.Plus, sum, v)
 		if !can {
 			return nil, false
 		}

@@ -6,6 +6,7 @@ import (
 	"tenon/api"
 	"tenon/kinds"
 	"tenon/names"
+	"tenon/ops"
 	"tenon/scan"
 	"tenon/text"
 	"tenon/value"
@@ -19,36 +20,36 @@ type reader struct {
 }
 
 // whole reads an expression of any level.
-func (r *reader) whole() api.Expr { return r.joined(r.conjunction, opOr) }
+func (r *reader) whole() api.Expr { return r.joined(r.conjunction, ops.Or) }
 
-func (r *reader) conjunction() api.Expr { return r.joined(r.negation, opAnd) }
+func (r *reader) conjunction() api.Expr { return r.joined(r.negation, ops.And) }
 
 func (r *reader) negation() api.Expr {
-	at, is := r.takes(opNot)
+	at, is := r.takes(ops.Not)
 	if !is {
 		return r.comparison()
 	}
 	r.mayLie(at)
 	r.begin(at)
-	return api.Expr{Op: opNot, At: at, Parts: []api.Expr{r.within(r.negation)}}
+	return api.Expr{Op: ops.Not, At: at, Parts: []api.Expr{r.within(r.negation)}}
 }
 
 func (r *reader) comparison() api.Expr {
 	e := r.sum()
-	op, at, is := r.takesOne(opEqual, opUnequal, opUpTo, opLess, opFrom, opMore, opIn, opIs)
+	op, at, is := r.takesOne(ops.Equal, ops.Unequal, ops.UpTo, ops.Less, ops.From, ops.More, ops.In, ops.Is)
 	if !is {
 		return e
 	}
 	r.begin(at)
-	if op == opIs {
+	if op == ops.Is {
 		return api.Expr{Op: op, At: at, Name: r.known(isKind), Parts: []api.Expr{e}}
 	}
 	return api.Expr{Op: op, At: at, Parts: []api.Expr{e, r.sum()}}
 }
 
-func (r *reader) sum() api.Expr { return r.joined(r.product, opPlus, opMinus) }
+func (r *reader) sum() api.Expr { return r.joined(r.product, ops.Plus, ops.Minus) }
 
-func (r *reader) product() api.Expr { return r.joined(r.signed, opTimes, opDivide, opRest) }
+func (r *reader) product() api.Expr { return r.joined(r.signed, ops.Times, ops.Divide, ops.Rest) }
 
 // signed is of level 7: all that is of a higher level is read by it.
 func (r *reader) signed() api.Expr {
@@ -63,7 +64,7 @@ func (r *reader) signed() api.Expr {
 	at := r.At
 	r.At++
 	r.begin(at)
-	return api.Expr{Op: opNeg, At: at, Parts: []api.Expr{r.within(r.signed)}}
+	return api.Expr{Op: ops.Neg, At: at, Parts: []api.Expr{r.within(r.signed)}}
 }
 
 // way reads a thing and the steps that lead on from it.
@@ -76,10 +77,10 @@ func (r *reader) way() api.Expr {
 		}
 		r.begin(at)
 		if op == "." {
-			e = api.Expr{Op: opDot, At: at, Name: r.known(names.Is), Parts: []api.Expr{e}}
+			e = api.Expr{Op: ops.Dot, At: at, Name: r.known(names.Is), Parts: []api.Expr{e}}
 			continue
 		}
-		e = api.Expr{Op: opAt, At: at, Parts: []api.Expr{e, r.within(r.whole)}}
+		e = api.Expr{Op: ops.At, At: at, Parts: []api.Expr{e, r.within(r.whole)}}
 		r.Mark(']')
 	}
 }
@@ -95,7 +96,7 @@ func (r *reader) thing() api.Expr {
 		return e
 	case c == '[':
 		r.begin(at)
-		return api.Expr{Op: opList, At: at, Parts: r.bracketed('[', ']')}
+		return api.Expr{Op: ops.List, At: at, Parts: r.bracketed('[', ']')}
 	case scan.Letter(c):
 		return r.word()
 	}
@@ -109,9 +110,9 @@ func (r *reader) word() api.Expr {
 	case wordNil, wordTrue, wordFalse:
 		r.begin(at)
 		return r.constant(at, word)
-	case opSelf:
+	case ops.Self:
 		r.begin(at)
-		return api.Expr{Op: opSelf, At: at}
+		return api.Expr{Op: ops.Self, At: at}
 	}
 	if !isField(word) {
 		panic(scan.Fault{At: at, Why: api.ErrWord})
@@ -121,7 +122,7 @@ func (r *reader) word() api.Expr {
 		return r.call(word, at)
 	}
 	r.begin(at)
-	return api.Expr{Op: opField, At: at, Name: strings.Clone(word)}
+	return api.Expr{Op: ops.Field, At: at, Name: strings.Clone(word)}
 }
 
 // call reads what stands behind a function's name, which stands at that place.
@@ -135,7 +136,7 @@ func (r *reader) call(function string, at int) api.Expr {
 	if len(parts) != n {
 		panic(scan.Fault{At: at, Why: api.ErrWord})
 	}
-	return api.Expr{Op: opCall, At: at, Name: strings.Clone(function), Parts: parts}
+	return api.Expr{Op: ops.Call, At: at, Name: strings.Clone(function), Parts: parts}
 }
 
 // constant reads a value, which stands at that place, out of a text that begins there. Of a word that is no more than the word: layer 2 would read a record of the class nil.
@@ -146,7 +147,7 @@ func (r *reader) constant(at int, from string) api.Expr {
 	}
 	r.At = at + n
 	term, _ := value.Plain(v)
-	return api.Expr{Op: opValue, At: at, Value: term}
+	return api.Expr{Op: ops.Value, At: at, Value: term}
 }
 
 // joined reads expressions with signs or words between them, each with all that stands ahead at its left.

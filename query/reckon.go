@@ -5,6 +5,7 @@ import (
 	"slices"
 
 	"tenon/api"
+	"tenon/ops"
 )
 
 // together is of +, which lays texts, lists and bytes one behind the other.
@@ -20,7 +21,7 @@ func together(a, b any) (any, bool) {
 		y, is := b.(api.List)
 		return slices.Concat(x, y), is
 	}
-	return reckoned(opPlus, a, b)
+	return reckoned(ops.Plus, a, b)
 }
 
 // reckoned is of numbers: of two whole ones a whole one, if one of them is a float a float.
@@ -41,17 +42,17 @@ func reckoned(op string, a, b any) (any, bool) {
 // wholes tells, too, whether the answer is one of 64 bits.
 func wholes(op string, x, y int64) (int64, bool) {
 	switch op {
-	case opPlus:
+	case ops.Plus:
 		return x + y, (x+y < x) == (y < 0)
-	case opMinus:
+	case ops.Minus:
 		return x - y, (x-y > x) == (y < 0)
-	case opTimes:
+	case ops.Times:
 		return times(x, y)
 	}
 	if y == 0 {
 		return 0, false
 	}
-	if op == opRest {
+	if op == ops.Rest {
 		return x % y, true
 	}
 	return x / y, x != math.MinInt64 || y != -1
@@ -68,13 +69,13 @@ func times(x, y int64) (int64, bool) {
 
 func floats(op string, x, y float64) (float64, bool) {
 	switch op {
-	case opPlus:
+	case ops.Plus:
 		return oneNaN(x + y), true
-	case opMinus:
+	case ops.Minus:
 		return oneNaN(x - y), true
-	case opTimes:
+	case ops.Times:
 		return oneNaN(x * y), true
-	case opDivide:
+	case ops.Divide:
 		return oneNaN(x / y), true
 	}
 	return 0, false

@@ -1,32 +1,6 @@
 package query
 
-// The Ops of expressions; those of signs are the signs.
-const (
-	opOr      = "or"
-	opAnd     = "and"
-	opNot     = "not"
-	opEqual   = "="
-	opUnequal = "!="
-	opLess    = "<"
-	opUpTo    = "<="
-	opMore    = ">"
-	opFrom    = ">="
-	opIn      = "in"
-	opIs      = "is"
-	opPlus    = "+"
-	opMinus   = "-"
-	opTimes   = "*"
-	opDivide  = "/"
-	opRest    = "%"
-	opNeg     = "neg"
-	opDot     = "dot"
-	opAt      = "at"
-	opValue   = "value"
-	opSelf    = "self"
-	opField   = "field"
-	opList    = "list"
-	opCall    = "call"
-)
+import "tenon/ops"
 
 // The functions.
 const (
@@ -69,23 +43,23 @@ const (
 // level is an Op's; 0, if it is none.
 func level(op string) int {
 	switch op {
-	case opOr:
+	case ops.Or:
 		return ofOr
-	case opAnd:
+	case ops.And:
 		return ofAnd
-	case opNot:
+	case ops.Not:
 		return ofNot
-	case opEqual, opUnequal, opLess, opUpTo, opMore, opFrom, opIn, opIs:
+	case ops.Equal, ops.Unequal, ops.Less, ops.UpTo, ops.More, ops.From, ops.In, ops.Is:
 		return ofSigns
-	case opPlus, opMinus:
+	case ops.Plus, ops.Minus:
 		return ofSums
-	case opTimes, opDivide, opRest:
+	case ops.Times, ops.Divide, ops.Rest:
 		return ofProducts
-	case opNeg:
+	case ops.Neg:
 		return ofNeg
-	case opDot, opAt:
+	case ops.Dot, ops.At:
 		return ofWays
-	case opValue, opSelf, opField, opList, opCall:
+	case ops.Value, ops.Self, ops.Field, ops.List, ops.Call:
 		return ofThings
 	}
 	return 0
@@ -110,7 +84,7 @@ func asksEach(function string) bool {
 // reserved tells whether a word is no name, though it looks like one.
 func reserved(word string) bool {
 	switch word {
-	case opOr, opAnd, opNot, opIn, opIs, opSelf, wordNil, wordTrue, wordFalse, wordNaN:
+	case ops.Or, ops.And, ops.Not, ops.In, ops.Is, ops.Self, wordNil, wordTrue, wordFalse, wordNaN:
 		return true
 	}
 	return false

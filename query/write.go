@@ -2,6 +2,7 @@ package query
 
 import (
 	"tenon/api"
+	"tenon/ops"
 	"tenon/text"
 	"tenon/value"
 )
@@ -9,24 +10,24 @@ import (
 // appendText puts a node's text behind what is written already.
 func (n *node) appendText(b []byte) []byte {
 	switch n.op {
-	case opValue:
+	case ops.Value:
 		s, _ := text.Print(n.value)
 		return append(b, s...)
-	case opSelf:
-		return append(b, opSelf...)
-	case opField:
+	case ops.Self:
+		return append(b, ops.Self...)
+	case ops.Field:
 		return append(b, n.name...)
-	case opList:
+	case ops.List:
 		return appendBracketed(b, "[", n.parts, "]")
-	case opCall:
+	case ops.Call:
 		return appendBracketed(append(b, n.name...), "(", n.parts, ")")
-	case opNot:
+	case ops.Not:
 		return n.parts[0].appendPart(append(b, "not "...), ofNot)
-	case opNeg:
+	case ops.Neg:
 		return n.parts[0].appendPart(append(b, '-'), ofNeg)
-	case opDot:
+	case ops.Dot:
 		return append(append(n.parts[0].appendDotted(b), '.'), n.name...)
-	case opAt:
+	case ops.At:
 		return appendBracketed(n.parts[0].appendPart(b, ofWays), "[", n.parts[1:], "]")
 	}
 	return n.appendJoined(b)
@@ -41,7 +42,7 @@ func (n *node) appendJoined(b []byte) []byte {
 	}
 	b = n.parts[0].appendPart(b, left)
 	b = append(append(append(b, ' '), n.op...), ' ')
-	if n.op == opIs {
+	if n.op == ops.Is {
 		return append(b, n.name...)
 	}
 	return n.parts[1].appendPart(b, right)
